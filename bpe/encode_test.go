@@ -9,6 +9,7 @@ import (
 
 	"augur/api"
 	"augur/bpe"
+	"augur/testaid"
 )
 
 // written: tokens as a string, a letter each.
@@ -44,10 +45,10 @@ func byByte(v api.Vocab, text []byte) string {
 }
 
 // someText: so many of the first few base bytes.
-func someText(s *source, v api.Vocab, n, few int) []byte {
+func someText(s *testaid.Source, v api.Vocab, n, few int) []byte {
 	out := make([]byte, n)
 	for i := range out {
-		out[i] = v.Base[s.below(min(few, len(v.Base)))]
+		out[i] = v.Base[s.Below(min(few, len(v.Base)))]
 	}
 	return out
 }
@@ -126,10 +127,10 @@ func TestEncodeRuns(t *testing.T) {
 }
 
 func TestEncodeAgainstTheRule(t *testing.T) {
-	s := source(3)
+	s := testaid.Source(3)
 	for _, v := range someVocabs() {
 		for range 20 {
-			text := someText(&s, v, s.below(80), 1+s.below(5))
+			text := someText(&s, v, s.Below(80), 1+s.Below(5))
 			if list := encoded(t, v, text); written(list...) != goneOn(v, 0, byByte(v, text)) {
 				t.Fatalf("P5.3: %v: Encode(%q) = %v, by the rule %q", v, text, list, goneOn(v, 0, byByte(v, text)))
 			}
@@ -138,7 +139,7 @@ func TestEncodeAgainstTheRule(t *testing.T) {
 }
 
 func TestEncodeLongTexts(t *testing.T) {
-	s := source(7)
+	s := testaid.Source(7)
 	v := someVocab(&s, 3, 60)
 	for _, n := range []int{1 << 10, 1<<16 - 1, 1 << 20} {
 		text := someText(&s, v, n, 3)
@@ -190,10 +191,10 @@ func TestEncodeWrongVocabulary(t *testing.T) {
 }
 
 func TestDecodeOfEncode(t *testing.T) {
-	s := source(13)
+	s := testaid.Source(13)
 	for _, v := range someVocabs() {
 		for range 20 {
-			text := someText(&s, v, s.below(200), 1+s.below(48))
+			text := someText(&s, v, s.Below(200), 1+s.Below(48))
 			list := encoded(t, v, text)
 			if b, e := bpe.Decode(v, list...); e != api.OK || !bytes.Equal(b, text) {
 				t.Fatalf("W8: %v: Decode of Encode(%q): %q, %d", v, text, b, e)
@@ -211,7 +212,7 @@ func TestDecodeOfEncode(t *testing.T) {
 }
 
 func TestEncodeWithPairsCutOff(t *testing.T) {
-	s := source(17)
+	s := testaid.Source(17)
 	for _, v := range someVocabs() {
 		text := someText(&s, v, 60, 4)
 		whole := written(encoded(t, v, text)...)

@@ -7,45 +7,26 @@ import (
 
 	"augur/api"
 	"augur/bpe"
+	"augur/testaid"
 )
-
-// roomy: the list with spare room behind its end, in which something stands.
-func roomy[T any](x []T, mark T) []T {
-	full := append(slices.Clone(x), mark, mark, mark)
-	return full[:len(x)]
-}
-
-// guard keeps how a list and its spare room are; the answered function tells whether they still are so.
-func guard[T comparable](x []T) func() bool {
-	was := slices.Clone(x[:cap(x)])
-	return func() bool { return slices.Equal(x[:cap(x)], was) }
-}
-
-// overwrite writes all over a list, its spare room too.
-func overwrite[T any](x []T, mark T) {
-	full := x[:cap(x)]
-	for i := range full {
-		full[i] = mark
-	}
-}
 
 func TestArgumentsStay(t *testing.T) {
 	for _, plain := range append(someVocabs(), wrongVocabs()...) {
-		v := api.Vocab{Base: roomy(plain.Base, 'a'), Pairs: roomy(plain.Pairs, [2]int{1, 1})}
-		text := roomy(bytes.Repeat(v.Base, 3), 'b')
-		tokens := roomy([]int{1, 0, 1, 1}, 1)
-		kept := []func() bool{guard(v.Base), guard(v.Pairs), guard(text), guard(tokens)}
+		v := api.Vocab{Base: testaid.Roomy(plain.Base, 'a'), Pairs: testaid.Roomy(plain.Pairs, [2]int{1, 1})}
+		text := testaid.Roomy(bytes.Repeat(v.Base, 3), 'b')
+		tokens := testaid.Roomy([]int{1, 0, 1, 1}, 1)
+		kept := []func() bool{testaid.Guard(v.Base), testaid.Guard(v.Pairs), testaid.Guard(text), testaid.Guard(tokens)}
 		bpe.Check(v)
 		bpe.Size(v)
 		b, _ := bpe.Bytes(v, 1)
 		list, _ := bpe.Encode(v, text)
 		d, _ := bpe.Decode(v, tokens...)
 		for _, piece := range bpe.All(v) {
-			overwrite(piece, 'z')
+			testaid.Overwrite(piece, 'z')
 		}
-		overwrite(b, 'z')
-		overwrite(list, 7)
-		overwrite(d, 'z')
+		testaid.Overwrite(b, 'z')
+		testaid.Overwrite(list, 7)
+		testaid.Overwrite(d, 'z')
 		for i, same := range kept {
 			if !same() {
 				t.Fatalf("P5.6: %v: argument %d changed", plain, i)
@@ -62,13 +43,13 @@ func TestAnswersAreApart(t *testing.T) {
 	v, text := abc(), []byte("aabcabaa")
 	want := []int{1, 5, 4, 6}
 	first, second := encoded(t, v, text), encoded(t, v, text)
-	overwrite(first, 9)
+	testaid.Overwrite(first, 9)
 	if !slices.Equal(second, want) || !slices.Equal(encoded(t, v, text), want) {
 		t.Errorf("P5.6: Encode's answers share memory: %v", second)
 	}
-	overwrite(text, 'z')
-	overwrite(v.Base, 'z')
-	overwrite(v.Pairs, [2]int{9, 9})
+	testaid.Overwrite(text, 'z')
+	testaid.Overwrite(v.Base, 'z')
+	testaid.Overwrite(v.Pairs, [2]int{9, 9})
 	if !slices.Equal(second, want) {
 		t.Errorf("P5.6: Encode's answer shares memory with an argument: %v", second)
 	}
@@ -78,9 +59,9 @@ func TestAnswersAreApart(t *testing.T) {
 		second, _ := bpe.Bytes(v, token)
 		third, _ := bpe.Decode(v, token)
 		fourth, _ := bpe.Decode(v, token)
-		overwrite(first, 'z')
-		overwrite(third, 'y')
-		overwrite(v.Base, 'z')
+		testaid.Overwrite(first, 'z')
+		testaid.Overwrite(third, 'y')
+		testaid.Overwrite(v.Base, 'z')
 		if string(second) != spelled(abc(), token) || string(fourth) != spelled(abc(), token) {
 			t.Errorf("P5.6: the bytes of token %d share memory: %q, %q", token, second, fourth)
 		}
@@ -90,8 +71,8 @@ func TestAnswersAreApart(t *testing.T) {
 func TestAllSharesNothing(t *testing.T) {
 	v := abc()
 	all := bpe.All(v)
-	overwrite(v.Base, 'z')
-	overwrite(v.Pairs, [2]int{0, 0})
+	testaid.Overwrite(v.Base, 'z')
+	testaid.Overwrite(v.Pairs, [2]int{0, 0})
 	goneThrough(t, all, abc(), 8) // what was handed in was not kept
 	for range 2 {
 		var kept [][]byte
@@ -99,11 +80,11 @@ func TestAllSharesNothing(t *testing.T) {
 			if string(piece) != spelled(abc(), token) {
 				t.Errorf("P5.6: token %d of All shares memory: %q", token, piece)
 			}
-			overwrite(piece, 'x')
+			testaid.Overwrite(piece, 'x')
 			kept = append(kept, piece)
 		}
 		for i, piece := range kept {
-			overwrite(piece, byte(i))
+			testaid.Overwrite(piece, byte(i))
 		}
 		for i, piece := range kept {
 			for _, b := range piece {
@@ -115,7 +96,7 @@ func TestAllSharesNothing(t *testing.T) {
 	}
 	changed := abc()
 	for token, piece := range bpe.All(changed) { // changed on the way
-		overwrite(changed.Base, 'z')
+		testaid.Overwrite(changed.Base, 'z')
 		if string(piece) != spelled(abc(), token) {
 			t.Errorf("P5.6: All reads what was handed in: token %d is %q", token, piece)
 		}

@@ -10,15 +10,8 @@ import (
 
 	"augur/api"
 	"augur/bpe"
+	"augur/testaid"
 )
-
-// source: numbers for tests, the same in every run.
-type source uint64
-
-func (s *source) below(n int) int {
-	*s = *s*6364136223846793005 + 1442695040888963407
-	return int(uint64(*s>>33) % uint64(n))
-}
 
 // bases: so many unlike base bytes from first on (round behind 255).
 func bases(n int, first byte) []byte {
@@ -66,11 +59,11 @@ func right(v api.Vocab) bool {
 }
 
 // someVocab: a right vocabulary of so many base bytes and up to so many pairs.
-func someVocab(s *source, base, pairs int) api.Vocab {
-	v := api.Vocab{Base: bases(base, byte(s.below(256)))}
+func someVocab(s *testaid.Source, base, pairs int) api.Vocab {
+	v := api.Vocab{Base: bases(base, byte(s.Below(256)))}
 	for range 4 * pairs {
 		own := base + len(v.Pairs) + 1
-		p := [2]int{1 + s.below(own-1), 1 + s.below(own-1)}
+		p := [2]int{1 + s.Below(own-1), 1 + s.Below(own-1)}
 		w := with(v, p)
 		if len(v.Pairs) < pairs && right(w) {
 			v = w
@@ -91,14 +84,14 @@ func abc() api.Vocab {
 
 // someVocabs: vocabularies of all kinds, all of them right.
 func someVocabs() []api.Vocab {
-	s := source(5)
+	s := testaid.Source(5)
 	out := []api.Vocab{abc(), {Base: []byte{0}}, {Base: bases(48, 230)}}
 	for range 60 {
-		base := 1 + s.below(6)
-		out = append(out, someVocab(&s, base, s.below(64-base)))
+		base := 1 + s.Below(6)
+		out = append(out, someVocab(&s, base, s.Below(64-base)))
 	}
 	for range 20 {
-		base := 1 + s.below(48)
+		base := 1 + s.Below(48)
 		out = append(out, someVocab(&s, base, 63-base))
 	}
 	return out
@@ -250,25 +243,25 @@ func TestCheckPiece(t *testing.T) {
 }
 
 // spoilt: a vocabulary with one thing changed, which may be right still.
-func spoilt(s *source, v api.Vocab) api.Vocab {
+func spoilt(s *testaid.Source, v api.Vocab) api.Vocab {
 	w := with(v)
-	switch s.below(4) {
+	switch s.Below(4) {
 	case 0:
-		w.Base[s.below(len(w.Base))] = byte(s.below(256))
+		w.Base[s.Below(len(w.Base))] = byte(s.Below(256))
 	case 1:
-		w.Base = append(w.Base, byte(s.below(256)))
+		w.Base = append(w.Base, byte(s.Below(256)))
 	case 2:
-		w.Pairs = append(w.Pairs, [2]int{s.below(bpe.Size(v) + 2), s.below(bpe.Size(v) + 2)})
+		w.Pairs = append(w.Pairs, [2]int{s.Below(bpe.Size(v) + 2), s.Below(bpe.Size(v) + 2)})
 	default:
 		if len(w.Pairs) > 0 {
-			w.Pairs[s.below(len(w.Pairs))][s.below(2)] = s.below(bpe.Size(v)+2) - 1
+			w.Pairs[s.Below(len(w.Pairs))][s.Below(2)] = s.Below(bpe.Size(v)+2) - 1
 		}
 	}
 	return w
 }
 
 func TestCheckAgainstTheRule(t *testing.T) {
-	s := source(9)
+	s := testaid.Source(9)
 	yes, no := 0, 0
 	for i, v := range someVocabs() {
 		isRight(t, "vocabulary "+strconv.Itoa(i), v)
@@ -345,18 +338,18 @@ func TestDecodeExamples(t *testing.T) {
 }
 
 func TestDecode(t *testing.T) {
-	s := source(11)
+	s := testaid.Source(11)
 	for _, v := range someVocabs() {
 		for _, n := range []int{1, 2, 3, 17, 300} {
 			tokens, want := []int{}, ""
 			for range n {
-				token := s.below(bpe.Size(v))
+				token := s.Below(bpe.Size(v))
 				tokens, want = append(tokens, token), want+spelled(v, token)
 			}
 			if b, e := bpe.Decode(v, tokens...); e != api.OK || string(b) != want {
 				t.Fatalf("P5.4: %v: Decode(%v) = %q, %d, want %q", v, tokens, b, e, want)
 			}
-			at := []int{0, n - 1, s.below(n)}
+			at := []int{0, n - 1, s.Below(n)}
 			for _, token := range badTokens(bpe.Size(v)) {
 				for _, i := range at {
 					bad := slices.Clone(tokens)

@@ -11,6 +11,7 @@ import (
 
 	"augur/api"
 	"augur/model"
+	"augur/testaid"
 )
 
 // part: a section as the chapter says it.
@@ -199,10 +200,10 @@ func TestFileNumbers(t *testing.T) {
 }
 
 func TestEncodeIsTheFile(t *testing.T) {
-	s := source(20)
+	s := testaid.Source(20)
 	for _, c := range someConfigs() {
 		for range 5 {
-			w := s.weights(c)
+			w := s.Weights(c)
 			want := sealed(joined(parts(w)))
 			if got := written(t, w); !bytes.Equal(got, want) {
 				t.Errorf("Encode of weights with %v: %d bytes, want %d", c, len(got), len(want))
@@ -222,8 +223,8 @@ func TestEncodeIsTheFile(t *testing.T) {
 
 // TestTwoWeightsTwoFiles: a change of any one number changes the file, and is read again.
 func TestTwoWeightsTwoFiles(t *testing.T) {
-	s := source(21)
-	w := s.weights(config([8]int{3, 8, 2, 1, 2, 3, 5, 1}))
+	s := testaid.Source(21)
+	w := s.Weights(config([8]int{3, 8, 2, 1, 2, 3, 5, 1}))
 	base := written(t, w)
 	differs := func(what string) {
 		t.Helper()
@@ -279,10 +280,10 @@ func TestEveryByteChanged(t *testing.T) {
 		}
 		b[i] = was
 	}
-	s := source(22)
-	b = written(t, s.weights(someConfigs()[2]))
+	s := testaid.Source(22)
+	b = written(t, s.Weights(someConfigs()[2]))
 	for i, was := range b {
-		b[i] = was ^ byte(1+s.below(255))
+		b[i] = was ^ byte(1+s.Below(255))
 		noFile(t, "byte "+strconv.Itoa(i)+" changed", b)
 		b[i] = was
 	}
@@ -349,8 +350,8 @@ func btoi(b bool) int {
 
 // TestCutAndLonger: bytes missing at the end, or some more.
 func TestCutAndLonger(t *testing.T) {
-	s := source(23)
-	for _, w := range []api.Weights{leastWeights(), s.weights(someConfigs()[2])} {
+	s := testaid.Source(23)
+	for _, w := range []api.Weights{leastWeights(), s.Weights(someConfigs()[2])} {
 		b := written(t, w)
 		for i := range b {
 			noFile(t, "cut to "+strconv.Itoa(i)+" bytes", b[:i:i])
@@ -379,9 +380,9 @@ func TestCutAndLonger(t *testing.T) {
 
 // TestSections: sections in another order, twice, missing, foreign, with the digest made right.
 func TestSections(t *testing.T) {
-	s := source(24)
+	s := testaid.Source(24)
 	for _, c := range []api.Config{config([8]int{2, 2, 1, 1, 1, 1, 1, 0}), config([8]int{4, 4, 1, 1, 2, 2, 3, 2})} {
-		ps := parts(s.weights(c))
+		ps := parts(s.Weights(c))
 		isFile(t, "all sections", sealed(joined(ps)))
 		for i := range ps {
 			noFile(t, "a section twice", sealed(joined(slices.Insert(slices.Clone(ps), i, ps[i]))))
@@ -415,8 +416,8 @@ func TestSections(t *testing.T) {
 
 // TestLengths: bodies too long and too short, and lengths that lie.
 func TestLengths(t *testing.T) {
-	s := source(25)
-	ps := parts(s.weights(config([8]int{4, 4, 1, 1, 2, 2, 3, 2})))
+	s := testaid.Source(25)
+	ps := parts(s.Weights(config([8]int{4, 4, 1, 1, 2, 2, 3, 2})))
 	for i, p := range ps {
 		with := func(q part) []byte {
 			other := slices.Clone(ps)
@@ -471,15 +472,15 @@ func TestDigest(t *testing.T) {
 
 // TestWrongWeightsUnderTheirDigest: what does not fit has no file, whatever its digest.
 func TestWrongWeightsUnderTheirDigest(t *testing.T) {
-	s := source(26)
+	s := testaid.Source(26)
 	c := config([8]int{4, 4, 2, 1, 2, 3, 3, 2})
 	wrong := func(what string, change func(w *api.Weights)) {
 		t.Helper()
-		w := s.weights(c)
+		w := s.Weights(c)
 		change(&w)
 		noFile(t, what, sealed(joined(parts(w))))
 	}
-	w := s.weights(c)
+	w := s.Weights(c)
 	for name := range matrices(&w) {
 		wrong(name+" with -128", func(w *api.Weights) { matrices(w)[name].Data[3] = -128 })
 	}
@@ -490,13 +491,13 @@ func TestWrongWeightsUnderTheirDigest(t *testing.T) {
 	wrong("a shift of 255", func(w *api.Weights) { w.Layers[0].By[0] = 255 })
 	wrong("a turn of 16385", func(w *api.Weights) { w.Turns[0].C = 16385 })
 	wrong("a turn of -16385", func(w *api.Weights) { w.Turns[0].S = -16385 })
-	wrong("a layer too many", func(w *api.Weights) { w.Layers = append(w.Layers, s.layer(c)) })
+	wrong("a layer too many", func(w *api.Weights) { w.Layers = append(w.Layers, s.Layer(c)) })
 	wrong("a layer too few", func(w *api.Weights) { w.Layers = w.Layers[1:] })
-	wrong("a Medusa matrix too many", func(w *api.Weights) { w.Medusa = append(w.Medusa, s.matrix(4, 4)) })
+	wrong("a Medusa matrix too many", func(w *api.Weights) { w.Medusa = append(w.Medusa, s.Matrix(4, 4)) })
 	wrong("a Medusa matrix too few", func(w *api.Weights) { w.Medusa = w.Medusa[1:] })
 	wrong("a turn too many", func(w *api.Weights) { w.Turns = append(w.Turns, api.Turn{}) })
 	wrong("no turns", func(w *api.Weights) { w.Turns = nil })
-	wrong("a row too many", func(w *api.Weights) { w.Embed = s.matrix(5, 4) })
+	wrong("a row too many", func(w *api.Weights) { w.Embed = s.Matrix(5, 4) })
 	for at, n := range [8]int{65, 34, 5, 3, 5, 65, 65, 5} {
 		wrong("a measure above its bound", func(w *api.Weights) {
 			m := [8]int{4, 4, 2, 1, 2, 3, 3, 2}
@@ -508,7 +509,7 @@ func TestWrongWeightsUnderTheirDigest(t *testing.T) {
 
 // TestMeasuresThatMayNotBe: files that would hold together but for their measures.
 func TestMeasuresThatMayNotBe(t *testing.T) {
-	s := source(27)
+	s := testaid.Source(27)
 	for _, n := range [][8]int{
 		{1, 4, 2, 1, 1, 3, 8, 0}, {65, 4, 2, 1, 1, 3, 8, 0}, {5, 34, 1, 1, 1, 3, 8, 0}, {5, 6, 2, 1, 1, 3, 8, 0},
 		{5, 8, 4, 3, 1, 3, 8, 0}, {5, 4, 2, 0, 1, 3, 8, 0}, {5, 4, 1, 2, 1, 3, 8, 0}, {5, 10, 5, 1, 1, 3, 8, 0},
@@ -516,7 +517,7 @@ func TestMeasuresThatMayNotBe(t *testing.T) {
 		{5, 4, 2, 1, 1, 3, 0, 0}, {5, 4, 2, 1, 1, 3, 65, 0}, {5, 4, 2, 1, 1, 3, 8, 5}, {0, 4, 2, 1, 1, 3, 8, 0},
 		{5, 3, 1, 1, 1, 3, 8, 0}, {255, 254, 1, 1, 1, 3, 8, 0},
 	} {
-		noFile(t, "measures that may not be", sealed(joined(parts(s.weights(config(n))))))
+		noFile(t, "measures that may not be", sealed(joined(parts(s.Weights(config(n))))))
 	}
 	noHeads := parts(leastWeights())
 	noHeads[0].body[2] = 0

@@ -10,56 +10,8 @@ import (
 	"augur/fix"
 	"augur/model"
 	"augur/tensor"
+	"augur/testaid"
 )
-
-// source gives numbers that look drawn, the same in each run.
-type source uint64
-
-func (s *source) below(n int) int {
-	*s = *s*6364136223846793005 + 1442695040888963407
-	return int(uint64(*s>>17) % uint64(n))
-}
-
-// narrow: numbers from -127 to 127.
-func (s *source) narrow(n int) []int8 {
-	out := make([]int8, n)
-	for i := range out {
-		out[i] = int8(s.below(255) - 127)
-	}
-	return out
-}
-
-func (s *source) matrix(rows, cols int) api.Mat {
-	return api.Mat{Rows: rows, Cols: cols, Data: s.narrow(rows * cols)}
-}
-
-func (s *source) layer(c api.Config) api.Layer {
-	w, kv := c.Width, c.KV*(c.Width/c.Heads)
-	l := api.Layer{
-		Norm1: s.narrow(w), Norm2: s.narrow(w),
-		Q: s.matrix(w, w), K: s.matrix(kv, w), V: s.matrix(kv, w), O: s.matrix(w, w),
-		G: s.matrix(c.Hidden, w), U: s.matrix(c.Hidden, w), D: s.matrix(w, c.Hidden),
-	}
-	for i := range l.By {
-		l.By[i] = s.below(25)
-	}
-	return l
-}
-
-// weights: some that fit.
-func (s *source) weights(c api.Config) api.Weights {
-	w := api.Weights{Config: c, Embed: s.matrix(c.Vocab, c.Width), Final: s.narrow(c.Width), Head: s.matrix(c.Vocab, c.Width)}
-	for range c.Width / c.Heads / 2 {
-		w.Turns = append(w.Turns, api.Turn{C: int64(s.below(32769) - 16384), S: int64(s.below(32769) - 16384)})
-	}
-	for range c.Layers {
-		w.Layers = append(w.Layers, s.layer(c))
-	}
-	for range c.Medusa {
-		w.Medusa = append(w.Medusa, s.matrix(c.Vocab, c.Width))
-	}
-	return w
-}
 
 // config: measures out of eight numbers.
 func config(n [8]int) api.Config {
@@ -247,11 +199,11 @@ func fits(t *testing.T, what string, w api.Weights) {
 }
 
 func TestCheckFits(t *testing.T) {
-	s := source(1)
+	s := testaid.Source(1)
 	for _, c := range someConfigs() {
-		fits(t, "weights as they should be", s.weights(c))
+		fits(t, "weights as they should be", s.Weights(c))
 	}
-	w := s.weights(someConfigs()[2])
+	w := s.Weights(someConfigs()[2])
 	for name, m := range matrices(&w) {
 		m.Data[0], m.Data[len(m.Data)-1] = -127, 127
 		fits(t, name+" with -127 and 127", w)
@@ -265,9 +217,9 @@ func TestCheckFits(t *testing.T) {
 }
 
 func TestCheckMatrices(t *testing.T) {
-	s := source(2)
+	s := testaid.Source(2)
 	for _, c := range someConfigs() {
-		w := s.weights(c)
+		w := s.Weights(c)
 		for name, m := range matrices(&w) {
 			was := *m
 			for what, spoilt := range spoiltMatrices(&s, was) {
@@ -281,7 +233,7 @@ func TestCheckMatrices(t *testing.T) {
 }
 
 // spoiltMatrices: matrices of other shapes, and what is no matrix.
-func spoiltMatrices(s *source, m api.Mat) map[string]api.Mat {
+func spoiltMatrices(s *testaid.Source, m api.Mat) map[string]api.Mat {
 	r, c := m.Rows, m.Cols
 	with := func(place int, n int8) []int8 {
 		out := slices.Clone(m.Data)
@@ -289,10 +241,10 @@ func spoiltMatrices(s *source, m api.Mat) map[string]api.Mat {
 		return out
 	}
 	out := map[string]api.Mat{
-		"a row too many":         s.matrix(r+1, c),
-		"a row too few":          s.matrix(r-1, c),
-		"a column too many":      s.matrix(r, c+1),
-		"a column too few":       s.matrix(r, c-1),
+		"a row too many":         s.Matrix(r+1, c),
+		"a row too few":          s.Matrix(r-1, c),
+		"a column too many":      s.Matrix(r, c+1),
+		"a column too few":       s.Matrix(r, c-1),
 		"nothing":                {},
 		"no numbers":             {Rows: r, Cols: c},
 		"an empty list":          {Rows: r, Cols: c, Data: []int8{}},
@@ -324,9 +276,9 @@ func spoiltMatrices(s *source, m api.Mat) map[string]api.Mat {
 }
 
 func TestCheckGains(t *testing.T) {
-	s := source(3)
+	s := testaid.Source(3)
 	for _, c := range someConfigs() {
-		w := s.weights(c)
+		w := s.Weights(c)
 		for name, g := range gains(&w) {
 			was := *g
 			for what, spoilt := range map[string][]int8{
@@ -347,9 +299,9 @@ func TestCheckGains(t *testing.T) {
 }
 
 func TestCheckTurns(t *testing.T) {
-	s := source(4)
+	s := testaid.Source(4)
 	for _, c := range someConfigs() {
-		w := s.weights(c)
+		w := s.Weights(c)
 		was := w.Turns
 		for what, spoilt := range map[string][]api.Turn{
 			"nil":          nil,
@@ -381,9 +333,9 @@ func TestCheckTurns(t *testing.T) {
 }
 
 func TestCheckShifts(t *testing.T) {
-	s := source(5)
+	s := testaid.Source(5)
 	for _, c := range someConfigs() {
-		w := s.weights(c)
+		w := s.Weights(c)
 		for i := range w.Layers {
 			for k := range w.Layers[i].By {
 				by := &w.Layers[i].By[k]
@@ -403,11 +355,11 @@ func TestCheckShifts(t *testing.T) {
 }
 
 func TestCheckHowMany(t *testing.T) {
-	s := source(6)
+	s := testaid.Source(6)
 	for _, c := range someConfigs() {
-		w := s.weights(c)
+		w := s.Weights(c)
 		layers, medusa := w.Layers, w.Medusa
-		w.Layers = append(slices.Clone(layers), s.layer(c))
+		w.Layers = append(slices.Clone(layers), s.Layer(c))
 		unfit(t, "a layer too many", w)
 		w.Layers = layers[1:]
 		unfit(t, "a layer too few", w)
@@ -418,7 +370,7 @@ func TestCheckHowMany(t *testing.T) {
 		w.Layers = append(slices.Clone(layers[1:]), api.Layer{})
 		unfit(t, "an empty layer", w)
 		w.Layers = layers
-		w.Medusa = append(slices.Clone(medusa), s.matrix(c.Vocab, c.Width))
+		w.Medusa = append(slices.Clone(medusa), s.Matrix(c.Vocab, c.Width))
 		unfit(t, "a Medusa matrix too many", w)
 		if c.Medusa > 0 {
 			w.Medusa = medusa[1:]
@@ -436,9 +388,9 @@ func TestCheckHowMany(t *testing.T) {
 
 // TestCheckOtherMeasures: weights of one model under the measures of another.
 func TestCheckOtherMeasures(t *testing.T) {
-	s := source(7)
+	s := testaid.Source(7)
 	base := [8]int{6, 16, 4, 2, 2, 6, 7, 2}
-	w := s.weights(config(base))
+	w := s.Weights(config(base))
 	fits(t, "the base", w)
 	for what, n := range map[string][8]int{
 		"Vocab": {7, 16, 4, 2, 2, 6, 7, 2}, "Width": {6, 8, 4, 2, 2, 6, 7, 2}, "Heads": {6, 16, 2, 2, 2, 6, 7, 2},
@@ -451,35 +403,35 @@ func TestCheckOtherMeasures(t *testing.T) {
 }
 
 func TestCheckExamples(t *testing.T) {
-	s := source(8)
+	s := testaid.Source(8)
 	c := config([8]int{5, 4, 2, 1, 1, 3, 8, 0})
-	w := s.weights(c)
+	w := s.Weights(c)
 	w.Embed.Data[7] = -128
 	unfit(t, "-128 in Embed", w)
-	w = s.weights(c)
+	w = s.Weights(c)
 	w.Layers[0].By[3] = 25
 	unfit(t, "a shift of 25", w)
-	w = s.weights(c)
+	w = s.Weights(c)
 	w.Turns[0] = api.Turn{C: 16385}
 	unfit(t, "the turn (16385, 0)", w)
-	w = s.weights(c)
-	w.Layers = append(w.Layers, s.layer(c))
+	w = s.Weights(c)
+	w.Layers = append(w.Layers, s.Layer(c))
 	unfit(t, "a layer too many", w)
-	w = s.weights(c)
+	w = s.Weights(c)
 	w.Config.Layers = 5
 	refusedAs(t, "five layers in the measures", w, api.ErrConfig)
 }
 
 // TestCheckFirstError: measures that may not be are told ahead of weights that do not fit.
 func TestCheckFirstError(t *testing.T) {
-	s := source(9)
+	s := testaid.Source(9)
 	refusedAs(t, "the zero value", api.Weights{}, api.ErrConfig)
-	w := s.weights(config([8]int{5, 4, 2, 1, 1, 3, 8, 0}))
+	w := s.Weights(config([8]int{5, 4, 2, 1, 1, 3, 8, 0}))
 	w.Embed, w.Turns, w.Layers = api.Mat{}, nil, nil
 	unfit(t, "all spoilt", w)
 	w.Config.Heads = 0
 	refusedAs(t, "all spoilt, and no heads", w, api.ErrConfig)
-	w = s.weights(config([8]int{5, 4, 2, 1, 1, 3, 8, 0}))
+	w = s.Weights(config([8]int{5, 4, 2, 1, 1, 3, 8, 0}))
 	w.Config.Len = 65
 	refusedAs(t, "Len alone", w, api.ErrConfig)
 	unfit(t, "measures without weights", api.Weights{Config: config([8]int{2, 2, 1, 1, 1, 1, 1, 0})})
@@ -487,9 +439,9 @@ func TestCheckFirstError(t *testing.T) {
 
 // TestTensorTakesWhatFits: each call of tensor that the transformer makes of a model's weights answers with OK.
 func TestTensorTakesWhatFits(t *testing.T) {
-	s := source(10)
+	s := testaid.Source(10)
 	for _, c := range someConfigs() {
-		m, _ := model.New(s.weights(c))
+		m, _ := model.New(s.Weights(c))
 		w := m.Weights()
 		size := c.Width / c.Heads
 		wide := func(mat api.Mat, v []int8) []int64 {

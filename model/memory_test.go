@@ -8,6 +8,7 @@ import (
 
 	"augur/api"
 	"augur/model"
+	"augur/testaid"
 )
 
 // narrowLists: all lists of 8-bit numbers of some weights.
@@ -23,19 +24,13 @@ func narrowLists(w *api.Weights) []*[]int8 {
 	return out
 }
 
-// roomy: the list with spare room behind its end, in which something stands.
-func roomy[T any](x []T, mark T) []T {
-	full := append(slices.Clone(x), mark, mark, mark)
-	return full[:len(x)]
-}
-
 // roomyWeights: all lists have spare room.
 func roomyWeights(w api.Weights) api.Weights {
-	w.Turns = roomy(w.Turns, api.Turn{C: 77})
-	w.Layers = roomy(w.Layers, api.Layer{Norm1: []int8{77}, By: api.Shifts{7}})
-	w.Medusa = roomy(w.Medusa, api.Mat{Rows: 77, Data: []int8{77}})
+	w.Turns = testaid.Roomy(w.Turns, api.Turn{C: 77})
+	w.Layers = testaid.Roomy(w.Layers, api.Layer{Norm1: []int8{77}, By: api.Shifts{7}})
+	w.Medusa = testaid.Roomy(w.Medusa, api.Mat{Rows: 77, Data: []int8{77}})
 	for _, l := range narrowLists(&w) {
-		*l = roomy(*l, 77)
+		*l = testaid.Roomy(*l, 77)
 	}
 	return w
 }
@@ -58,21 +53,14 @@ func guard(w api.Weights) func() bool {
 	return func() bool { return reflect.DeepEqual(whole(w), was) }
 }
 
-// overwrite writes all over a list, its spare room too.
-func overwrite[T any](x []T, mark T) {
-	for i := range x[:cap(x)] {
-		x[:cap(x)][i] = mark
-	}
-}
-
 // overwriteAll writes all over what the weights lead to.
 func overwriteAll(w api.Weights) {
 	for _, l := range narrowLists(&w) {
-		overwrite(*l, 55)
+		testaid.Overwrite(*l, 55)
 	}
-	overwrite(w.Turns, api.Turn{C: 5, S: 5})
-	overwrite(w.Layers, api.Layer{By: api.Shifts{5, 5, 5, 5, 5, 5, 5}})
-	overwrite(w.Medusa, api.Mat{})
+	testaid.Overwrite(w.Turns, api.Turn{C: 5, S: 5})
+	testaid.Overwrite(w.Layers, api.Layer{By: api.Shifts{5, 5, 5, 5, 5, 5, 5}})
+	testaid.Overwrite(w.Medusa, api.Mat{})
 }
 
 func hold(t *testing.T, what string, kept func() bool) {
@@ -83,9 +71,9 @@ func hold(t *testing.T, what string, kept func() bool) {
 }
 
 func TestWeightsAsGiven(t *testing.T) {
-	s := source(40)
+	s := testaid.Source(40)
 	for _, c := range someConfigs() {
-		w := s.weights(c)
+		w := s.Weights(c)
 		m, e := model.New(w)
 		if e != api.OK || m.Config() != c {
 			t.Fatalf("New: error %d, measures %v", e, m.Config())
@@ -107,9 +95,9 @@ func TestNilModel(t *testing.T) {
 
 // TestArgumentsStay: no call changes what it is handed, the room behind its end neither.
 func TestArgumentsStay(t *testing.T) {
-	s := source(41)
+	s := testaid.Source(41)
 	for _, c := range someConfigs() {
-		w := roomyWeights(s.weights(c))
+		w := roomyWeights(s.Weights(c))
 		kept := guard(w)
 		model.Check(w)
 		hold(t, "Check", kept)
@@ -119,7 +107,7 @@ func TestArgumentsStay(t *testing.T) {
 		hold(t, "Encode", kept)
 		m.Weights()
 		hold(t, "Weights", kept)
-		b = roomy(b, 77)
+		b = testaid.Roomy(b, 77)
 		was := slices.Clone(b[:cap(b)])
 		model.Decode(b)
 		model.Load(b)
@@ -139,10 +127,10 @@ func TestArgumentsStay(t *testing.T) {
 
 // TestNothingKept: what is written later into what was handed in is seen nowhere.
 func TestNothingKept(t *testing.T) {
-	s := source(42)
+	s := testaid.Source(42)
 	for _, c := range someConfigs() {
-		w := roomyWeights(s.weights(c))
-		want := s.weights(c)
+		w := roomyWeights(s.Weights(c))
+		want := s.Weights(c)
 		b, _ := model.Encode(want)
 		bytesWere := slices.Clone(b)
 		m, _ := model.New(w)
@@ -151,7 +139,7 @@ func TestNothingKept(t *testing.T) {
 		sameWeights(t, "the model's weights, once the argument was written over", m.Weights(), was)
 		decoded, _ := model.Decode(b)
 		loaded, _ := model.Load(b)
-		overwrite(b, 55)
+		testaid.Overwrite(b, 55)
 		sameWeights(t, "Decode's answer, once the bytes were written over", decoded, want)
 		sameWeights(t, "a loaded model's weights, once the bytes were written over", loaded.Weights(), want)
 		b, _ = model.Encode(want)
@@ -164,9 +152,9 @@ func TestNothingKept(t *testing.T) {
 
 // TestAnswersAreTheirOwn: who writes into an answer changes no model, no argument and no other answer.
 func TestAnswersAreTheirOwn(t *testing.T) {
-	s := source(43)
+	s := testaid.Source(43)
 	for _, c := range someConfigs() {
-		w := s.weights(c)
+		w := s.Weights(c)
 		b, _ := model.Encode(w)
 		made, _ := model.New(w)
 		loaded, _ := model.Load(b)
@@ -186,7 +174,7 @@ func TestAnswersAreTheirOwn(t *testing.T) {
 			t.Errorf("writing into an answer changed the bytes")
 		}
 		again, _ := model.Encode(w)
-		overwrite(again, 55)
+		testaid.Overwrite(again, 55)
 		hold(t, "writing into Encode's answer", kept)
 		third, _ := model.Encode(w)
 		if !bytes.Equal(third, bytesWere) {
@@ -205,7 +193,7 @@ func apart(t *testing.T, what string, w api.Weights) {
 		for k, o := range others {
 			were[k] = slices.Clone((*o)[:cap(*o)])
 		}
-		overwrite(*l, int8(i+60))
+		testaid.Overwrite(*l, int8(i+60))
 		for k, o := range others {
 			if !slices.Equal(were[k], (*o)[:cap(*o)]) {
 				t.Errorf("%s: two lists share memory", what)
@@ -216,10 +204,10 @@ func apart(t *testing.T, what string, w api.Weights) {
 
 // TestListsApart: no two lists of one answer share memory, though those that were handed in do.
 func TestListsApart(t *testing.T) {
-	s := source(44)
+	s := testaid.Source(44)
 	c := config([8]int{8, 8, 1, 1, 3, 8, 5, 4})
-	w := s.weights(c)
-	one := s.matrix(8, 8)
+	w := s.Weights(c)
+	one := s.Matrix(8, 8)
 	for _, m := range matrices(&w) {
 		*m = one
 	}
@@ -239,8 +227,8 @@ func TestListsApart(t *testing.T) {
 
 // TestModelsApart: two models of the same weights know nothing of one another.
 func TestModelsApart(t *testing.T) {
-	s := source(45)
-	w := s.weights(someConfigs()[2])
+	s := testaid.Source(45)
+	w := s.Weights(someConfigs()[2])
 	a, _ := model.New(w)
 	b, _ := model.New(w)
 	if a == b {
