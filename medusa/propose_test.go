@@ -103,7 +103,7 @@ func TestWidthsAboveTheVocabulary(t *testing.T) {
 	gives(t, example(), []int{3}, raws(-1, 1, -1, 2, -1, 0))
 	w := level(64, 3)
 	m := newModel(t, w)
-	for _, widths := range lists(4, 1, 63, 64, 65, math.MaxInt) {
+	for _, widths := range testaid.Lists(4, 1, 63, 64, 65, math.MaxInt) {
 		asWords(t, m, w, oneNought(), widths...)
 	}
 }
@@ -169,7 +169,7 @@ func TestAllShort(t *testing.T) {
 	for many := range 5 {
 		w := s.Weights(api.Config{Vocab: 3, Width: 2, Heads: 1, KV: 1, Layers: 1, Hidden: 1, Len: 8, Medusa: many})
 		m := newModel(t, w)
-		for _, widths := range lists(5, 0, 1, 2, 3, 4) {
+		for _, widths := range testaid.Lists(5, 0, 1, 2, 3, 4) {
 			asWords(t, m, w, []int8{3, -7}, widths...)
 		}
 	}

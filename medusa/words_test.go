@@ -185,18 +185,3 @@ func someWidths(s *testaid.Source, n, vocab int) []int {
 	}
 	return out
 }
-
-// lists: all lists of at most so many of the numbers.
-func lists(most int, numbers ...int) [][]int {
-	all := [][]int{nil}
-	for from := 0; most > 0; most-- {
-		end := len(all)
-		for _, list := range all[from:end] {
-			for _, x := range numbers {
-				all = append(all, append(slices.Clone(list), x))
-			}
-		}
-		from = end
-	}
-	return all
-}

@@ -1,4 +1,4 @@
-// Package testaid: what the tests of several layers need: numbers that look drawn, weights made of them, and means to see whether memory is shared.
+// Package testaid: what the tests of several layers need: numbers that look drawn, weights made of them, trees, lists, and means to see whether memory is shared.
 package testaid
 
 import (
@@ -61,6 +61,48 @@ func (s *Source) Weights(c api.Config) api.Weights {
 		w.Medusa = append(w.Medusa, s.Matrix(c.Vocab, c.Width))
 	}
 	return w
+}
+
+// Nodes: of a list of parents, tokens and depths, one behind the other.
+func Nodes(numbers ...int) []api.Node {
+	var out []api.Node
+	for i := 0; i < len(numbers); i += 3 {
+		out = append(out, api.Node{Parent: numbers[i], Token: numbers[i+1], Depth: numbers[i+2]})
+	}
+	return out
+}
+
+// Chain: a tree of one node behind the other, so many with the root.
+func Chain(n int) []api.Node {
+	var out []api.Node
+	for i := range n {
+		out = append(out, api.Node{Parent: i - 1, Token: 1 + i%5, Depth: i})
+	}
+	return out
+}
+
+// Star: a tree of the root and so many children less one.
+func Star(n int) []api.Node {
+	out := Chain(1)
+	for i := 1; i < n; i++ {
+		out = append(out, api.Node{Token: i, Depth: 1})
+	}
+	return out
+}
+
+// Lists: all lists of at most so many of the numbers.
+func Lists(most int, numbers ...int) [][]int {
+	all := [][]int{nil}
+	for from := 0; most > 0; most-- {
+		end := len(all)
+		for _, list := range all[from:end] {
+			for _, x := range numbers {
+				all = append(all, append(slices.Clone(list), x))
+			}
+		}
+		from = end
+	}
+	return all
 }
 
 // Roomy: the list with spare room behind its end, in which mark stands.

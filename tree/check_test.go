@@ -12,89 +12,89 @@ import (
 
 func TestCheckExamples(t *testing.T) {
 	isOne(t, second())
-	isNone(t, nodes(0, 7, 0))
-	isNone(t, nodes(-1, 7, 0, 0, 3, 1, 0, 3, 1))
-	isNone(t, nodes(-1, 7, 0, 0, 0, 1))
+	isNone(t, testaid.Nodes(0, 7, 0))
+	isNone(t, testaid.Nodes(-1, 7, 0, 0, 3, 1, 0, 3, 1))
+	isNone(t, testaid.Nodes(-1, 7, 0, 0, 0, 1))
 	isNone(t, nil)
 	isNone(t, []api.Node{})
 }
 
 func TestCheckMost(t *testing.T) {
 	for n := 1; n <= 32; n++ {
-		isOne(t, chain(n))
-		isOne(t, star(n))
+		isOne(t, testaid.Chain(n))
+		isOne(t, testaid.Star(n))
 	}
 	for _, n := range []int{33, 34, 64, 65, 1000} {
-		isNone(t, chain(n))
-		isNone(t, star(n))
+		isNone(t, testaid.Chain(n))
+		isNone(t, testaid.Star(n))
 	}
 }
 
 func TestCheckRoot(t *testing.T) {
 	for _, token := range []int{math.MinInt, -1, 0, 1, 3, math.MaxInt} {
-		isOne(t, nodes(-1, token, 0))
-		isOne(t, nodes(-1, token, 0, 0, 3, 1))
+		isOne(t, testaid.Nodes(-1, token, 0))
+		isOne(t, testaid.Nodes(-1, token, 0, 0, 3, 1))
 	}
 	for _, parent := range []int{math.MinInt, -2, 0, 1, math.MaxInt} {
-		isNone(t, nodes(parent, 7, 0))
-		isNone(t, nodes(parent, 7, 0, 0, 3, 1))
+		isNone(t, testaid.Nodes(parent, 7, 0))
+		isNone(t, testaid.Nodes(parent, 7, 0, 0, 3, 1))
 	}
 	for _, depth := range []int{math.MinInt, -1, 1, 2, math.MaxInt} {
-		isNone(t, nodes(-1, 7, depth))
-		isNone(t, nodes(-1, 7, depth, 0, 3, depth+1))
-		isNone(t, nodes(-1, 7, depth, 0, 3, 1))
+		isNone(t, testaid.Nodes(-1, 7, depth))
+		isNone(t, testaid.Nodes(-1, 7, depth, 0, 3, depth+1))
+		isNone(t, testaid.Nodes(-1, 7, depth, 0, 3, 1))
 	}
 }
 
 func TestCheckParents(t *testing.T) {
 	for _, parent := range []int{math.MinInt, -2, -1, 2, 3, 31, 32, math.MaxInt} {
 		for _, depth := range []int{0, 1, 2, 3} {
-			isNone(t, nodes(-1, 7, 0, 0, 3, 1, parent, 4, depth))
-			isNone(t, nodes(-1, 7, 0, 0, 3, 1, parent, 4, depth, 0, 5, 1))
+			isNone(t, testaid.Nodes(-1, 7, 0, 0, 3, 1, parent, 4, depth))
+			isNone(t, testaid.Nodes(-1, 7, 0, 0, 3, 1, parent, 4, depth, 0, 5, 1))
 		}
 	}
-	isOne(t, nodes(-1, 7, 0, 0, 3, 1, 0, 4, 1))
-	isOne(t, nodes(-1, 7, 0, 0, 3, 1, 1, 4, 2))
-	isNone(t, nodes(-1, 7, 0, 1, 3, 1))                           // its own place
-	isNone(t, nodes(-1, 7, 0, 2, 3, 2, 0, 4, 1))                  // behind it
-	isOne(t, nodes(-1, 7, 0, 0, 3, 1, 0, 4, 1, 2, 5, 2, 1, 6, 2)) // the parents may fall
+	isOne(t, testaid.Nodes(-1, 7, 0, 0, 3, 1, 0, 4, 1))
+	isOne(t, testaid.Nodes(-1, 7, 0, 0, 3, 1, 1, 4, 2))
+	isNone(t, testaid.Nodes(-1, 7, 0, 1, 3, 1))                           // its own place
+	isNone(t, testaid.Nodes(-1, 7, 0, 2, 3, 2, 0, 4, 1))                  // behind it
+	isOne(t, testaid.Nodes(-1, 7, 0, 0, 3, 1, 0, 4, 1, 2, 5, 2, 1, 6, 2)) // the parents may fall
 }
 
 func TestCheckDepths(t *testing.T) {
 	for _, depth := range []int{math.MinInt, -1, 0, 1, 3, 4, math.MaxInt} {
-		isNone(t, nodes(-1, 7, 0, 0, 3, 1, 1, 4, depth))
+		isNone(t, testaid.Nodes(-1, 7, 0, 0, 3, 1, 1, 4, depth))
 	}
 	for _, depth := range []int{math.MinInt, -1, 0, 2, 3, math.MaxInt} {
-		isNone(t, nodes(-1, 7, 0, 0, 3, depth))
-		isNone(t, nodes(-1, 7, 0, 0, 3, 1, 0, 4, depth))
+		isNone(t, testaid.Nodes(-1, 7, 0, 0, 3, depth))
+		isNone(t, testaid.Nodes(-1, 7, 0, 0, 3, 1, 0, 4, depth))
 	}
 	// Depths that fall, each right for its parent.
-	isNone(t, nodes(-1, 7, 0, 0, 3, 1, 1, 4, 2, 0, 5, 1))
-	isNone(t, nodes(-1, 7, 0, 0, 3, 1, 1, 4, 2, 2, 5, 3, 1, 6, 2))
-	isNone(t, nodes(-1, 7, 0, 0, 3, 1, 0, 4, 1, 1, 4, 2, 2, 5, 2, 3, 5, 3, 0, 6, 1))
-	isOne(t, nodes(-1, 7, 0, 0, 3, 1, 0, 4, 1, 1, 4, 2, 2, 5, 2, 3, 5, 3))
+	isNone(t, testaid.Nodes(-1, 7, 0, 0, 3, 1, 1, 4, 2, 0, 5, 1))
+	isNone(t, testaid.Nodes(-1, 7, 0, 0, 3, 1, 1, 4, 2, 2, 5, 3, 1, 6, 2))
+	isNone(t, testaid.Nodes(-1, 7, 0, 0, 3, 1, 0, 4, 1, 1, 4, 2, 2, 5, 2, 3, 5, 3, 0, 6, 1))
+	isOne(t, testaid.Nodes(-1, 7, 0, 0, 3, 1, 0, 4, 1, 1, 4, 2, 2, 5, 2, 3, 5, 3))
 }
 
 func TestCheckTokens(t *testing.T) {
 	for _, token := range []int{math.MinInt, -7, -1, 0} {
-		isNone(t, nodes(-1, 7, 0, 0, token, 1))
-		isNone(t, nodes(-1, 7, 0, 0, 1, 1, 1, token, 2))
-		isNone(t, nodes(-1, 7, 0, 0, token, 1, 1, 1, 2))
+		isNone(t, testaid.Nodes(-1, 7, 0, 0, token, 1))
+		isNone(t, testaid.Nodes(-1, 7, 0, 0, 1, 1, 1, token, 2))
+		isNone(t, testaid.Nodes(-1, 7, 0, 0, token, 1, 1, 1, 2))
 	}
 	for _, token := range []int{1, 2, 63, 64, 1 << 40, math.MaxInt} {
-		isOne(t, nodes(-1, 7, 0, 0, token, 1, 1, token, 2))
+		isOne(t, testaid.Nodes(-1, 7, 0, 0, token, 1, 1, token, 2))
 	}
 }
 
 // Two nodes with one parent and one token: side by side or not, at any depth.
 func TestCheckAlike(t *testing.T) {
-	isNone(t, nodes(-1, 7, 0, 0, 3, 1, 0, 4, 1, 0, 3, 1))
-	isNone(t, nodes(-1, 7, 0, 0, 3, 1, 0, 4, 1, 1, 5, 2, 2, 5, 2, 1, 5, 2))
-	isNone(t, nodes(-1, 7, 0, 0, 3, 1, 1, 5, 2, 2, 5, 3, 2, 6, 3, 2, 6, 3))
-	isNone(t, append(star(31), api.Node{Token: 30, Depth: 1}))
-	isNone(t, append(star(31), api.Node{Token: 1, Depth: 1}))
-	isOne(t, nodes(-1, 7, 0, 0, 7, 1, 0, 4, 1, 1, 4, 2, 2, 4, 2)) // unlike parents, or the parent's token
-	isOne(t, nodes(-1, 7, 0, 0, 5, 1, 0, 5+1<<8, 1, 0, 5+1<<32, 1))
+	isNone(t, testaid.Nodes(-1, 7, 0, 0, 3, 1, 0, 4, 1, 0, 3, 1))
+	isNone(t, testaid.Nodes(-1, 7, 0, 0, 3, 1, 0, 4, 1, 1, 5, 2, 2, 5, 2, 1, 5, 2))
+	isNone(t, testaid.Nodes(-1, 7, 0, 0, 3, 1, 1, 5, 2, 2, 5, 3, 2, 6, 3, 2, 6, 3))
+	isNone(t, append(testaid.Star(31), api.Node{Token: 30, Depth: 1}))
+	isNone(t, append(testaid.Star(31), api.Node{Token: 1, Depth: 1}))
+	isOne(t, testaid.Nodes(-1, 7, 0, 0, 7, 1, 0, 4, 1, 1, 4, 2, 2, 4, 2)) // unlike parents, or the parent's token
+	isOne(t, testaid.Nodes(-1, 7, 0, 0, 5, 1, 0, 5+1<<8, 1, 0, 5+1<<32, 1))
 }
 
 // Trees with one number changed: what the words say of each.
@@ -161,7 +161,7 @@ func TestCheckAllShort(t *testing.T) {
 }
 
 func TestCut(t *testing.T) {
-	for most, want := range [][]api.Node{1: nodes(-1, 7, 0), 2: second()[:2], 3: nodes(-1, 7, 0, 0, 3, 1, 0, 5, 1), 4: second()[:4], 5: second(), 6: second()} {
+	for most, want := range [][]api.Node{1: testaid.Nodes(-1, 7, 0), 2: second()[:2], 3: testaid.Nodes(-1, 7, 0, 0, 3, 1, 0, 5, 1), 4: second()[:4], 5: second(), 6: second()} {
 		got, e := tree.Cut(second(), most)
 		if most == 0 && (e != api.ErrArg || len(got) != 0) || most > 0 && (e != api.OK || !slices.Equal(got, want)) {
 			t.Errorf("P14.4: Cut of the second example's, %d = %v, %d", most, got, e)
@@ -169,14 +169,14 @@ func TestCut(t *testing.T) {
 	}
 	// What is no tree is told ahead of a number that may not be.
 	for _, most := range []int{math.MinInt, -1, 0, 1} {
-		for _, some := range [][]api.Node{nil, nodes(0, 7, 0), chain(33), nodes(-1, 7, 0, 0, 0, 1)} {
+		for _, some := range [][]api.Node{nil, testaid.Nodes(0, 7, 0), testaid.Chain(33), testaid.Nodes(-1, 7, 0, 0, 0, 1)} {
 			if got, e := tree.Cut(some, most); e != api.ErrTree || len(got) != 0 {
 				t.Errorf("P14.4: Cut(%v, %d) = %v, %d", some, most, got, e)
 			}
 		}
 	}
 	// Though what would be left is a tree.
-	if got, e := tree.Cut(nodes(-1, 7, 0, 0, 3, 1, 0, 0, 1), 2); e != api.ErrTree || len(got) != 0 {
+	if got, e := tree.Cut(testaid.Nodes(-1, 7, 0, 0, 3, 1, 0, 0, 1), 2); e != api.ErrTree || len(got) != 0 {
 		t.Errorf("P14.4: Cut of no tree = %v, %d", got, e)
 	}
 }

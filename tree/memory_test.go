@@ -83,7 +83,7 @@ func TestNothingIsKept(t *testing.T) {
 
 // What was no tree when it was handed in is none, though it becomes one; and what was one stays one within a going through.
 func TestPathsAsHandedIn(t *testing.T) {
-	some := nodes(-1, 7, 0, 0, 0, 1)
+	some := testaid.Nodes(-1, 7, 0, 0, 0, 1)
 	all := tree.Paths(some)
 	some[1].Token = 3
 	gives(t, all)
@@ -162,7 +162,7 @@ func TestOrderIsNotSeen(t *testing.T) {
 		raw, other := someRaw(&s, s.Below(97), 6), someRaw(&s, s.Below(97), 6)
 		cleans(t, 1, raw, 6, cleaned(1, raw, 6))
 		cleans(t, 2, other, 4, cleaned(2, other, 4))
-		isNone(t, chain(33))
+		isNone(t, testaid.Chain(33))
 		tree.Clean(1, make([]api.RawNode, 97), 6)
 		isOne(t, someTree(&s, 1+s.Below(32)))
 		cleans(t, 1, raw, 6, cleaned(1, raw, 6))

@@ -20,9 +20,9 @@ func above(t *testing.T, some []api.Node, want ...api.Bits) {
 
 func TestAbove(t *testing.T) {
 	above(t, second(), api.Bits{1}, api.Bits{3}, api.Bits{5}, api.Bits{11}, api.Bits{27})
-	above(t, nodes(-1, 7, 0), api.Bits{1})
-	above(t, nodes(-1, 0, 0, 0, 1, 1), api.Bits{1}, api.Bits{3})
-	above(t, nodes(-1, 7, 0, 0, 3, 1, 0, 4, 1, 2, 5, 2, 1, 6, 2), api.Bits{1}, api.Bits{3}, api.Bits{5}, api.Bits{13}, api.Bits{19})
+	above(t, testaid.Nodes(-1, 7, 0), api.Bits{1})
+	above(t, testaid.Nodes(-1, 0, 0, 0, 1, 1), api.Bits{1}, api.Bits{3})
+	above(t, testaid.Nodes(-1, 7, 0, 0, 3, 1, 0, 4, 1, 2, 5, 2, 1, 6, 2), api.Bits{1}, api.Bits{3}, api.Bits{5}, api.Bits{13}, api.Bits{19})
 }
 
 // Up to the last place that a tree may have: on both sides of what 8, 16 and 31 bits hold.
@@ -33,8 +33,8 @@ func TestAboveLong(t *testing.T) {
 		across = append(across, api.Bits{1<<place | 1})
 	}
 	for n := 1; n <= 32; n++ {
-		above(t, chain(n), down[:n]...)
-		above(t, star(n), across[:n]...)
+		above(t, testaid.Chain(n), down[:n]...)
+		above(t, testaid.Star(n), across[:n]...)
 	}
 	if down[31] != (api.Bits{4294967295}) || across[31] != (api.Bits{2147483649}) {
 		t.Errorf("the last sets are %d and %d", down[31], across[31])
@@ -63,14 +63,14 @@ func gives(t *testing.T, all iter.Seq[[]int], want ...[]int) {
 
 func TestPaths(t *testing.T) {
 	gives(t, tree.Paths(second()), []int{0, 2}, []int{0, 1, 3, 4})
-	gives(t, tree.Paths(nodes(-1, 7, 0)), []int{0})
-	gives(t, tree.Paths(nodes(-1, 0, 0, 0, 1, 1)), []int{0, 1})
-	gives(t, tree.Paths(nodes(-1, 7, 0, 0, 3, 1, 0, 4, 1, 2, 5, 2, 1, 6, 2)), []int{0, 2, 3}, []int{0, 1, 4})
+	gives(t, tree.Paths(testaid.Nodes(-1, 7, 0)), []int{0})
+	gives(t, tree.Paths(testaid.Nodes(-1, 0, 0, 0, 1, 1)), []int{0, 1})
+	gives(t, tree.Paths(testaid.Nodes(-1, 7, 0, 0, 3, 1, 0, 4, 1, 2, 5, 2, 1, 6, 2)), []int{0, 2, 3}, []int{0, 1, 4})
 	gives(t, tree.Paths(nil))
 	gives(t, tree.Paths(second()[1:]))
-	gives(t, tree.Paths(nodes(-1, 7, 0, 0, 3, 1, 0, 3, 1)))
-	gives(t, tree.Paths(chain(33)))
-	gives(t, tree.Paths(star(33)))
+	gives(t, tree.Paths(testaid.Nodes(-1, 7, 0, 0, 3, 1, 0, 3, 1)))
+	gives(t, tree.Paths(testaid.Chain(33)))
+	gives(t, tree.Paths(testaid.Star(33)))
 	var down []int
 	var across [][]int
 	for place := range 32 {
@@ -79,13 +79,13 @@ func TestPaths(t *testing.T) {
 			across = append(across, []int{0, place})
 		}
 	}
-	gives(t, tree.Paths(chain(32)), down)
-	gives(t, tree.Paths(star(32)), across...)
+	gives(t, tree.Paths(testaid.Chain(32)), down)
+	gives(t, tree.Paths(testaid.Star(32)), across...)
 }
 
 // Left early behind any way, it has given those up to there; then it may be gone through again, from the first way on.
 func TestPathsLeft(t *testing.T) {
-	some := star(6)
+	some := testaid.Star(6)
 	all := tree.Paths(some)
 	for stop := range 5 {
 		met := 0

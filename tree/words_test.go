@@ -130,35 +130,8 @@ func raws(numbers ...int) []api.RawNode {
 	return out
 }
 
-// nodes: of a list of parents, tokens and depths, one behind the other.
-func nodes(numbers ...int) []api.Node {
-	var out []api.Node
-	for i := 0; i < len(numbers); i += 3 {
-		out = append(out, api.Node{Parent: numbers[i], Token: numbers[i+1], Depth: numbers[i+2]})
-	}
-	return out
-}
-
 // second: the second example's tree.
-func second() []api.Node { return nodes(-1, 7, 0, 0, 3, 1, 0, 5, 1, 1, 4, 2, 3, 6, 3) }
-
-// chain: one node behind the other, so many with the root.
-func chain(n int) []api.Node {
-	var out []api.Node
-	for i := range n {
-		out = append(out, api.Node{Parent: i - 1, Token: 1 + i%5, Depth: i})
-	}
-	return out
-}
-
-// star: the root and so many children less one.
-func star(n int) []api.Node {
-	out := chain(1)
-	for i := 1; i < n; i++ {
-		out = append(out, api.Node{Token: i, Depth: 1})
-	}
-	return out
-}
+func second() []api.Node { return testaid.Nodes(-1, 7, 0, 0, 3, 1, 0, 5, 1, 1, 4, 2, 3, 6, 3) }
 
 // someTree: a tree of so many nodes, drawn: of each further one the parent is drawn among those whose children may still come.
 func someTree(s *testaid.Source, n int) []api.Node {
