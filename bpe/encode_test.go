@@ -181,7 +181,7 @@ func TestEncodeWrongBytes(t *testing.T) {
 }
 
 func TestEncodeWrongVocabulary(t *testing.T) {
-	for i, v := range wrongVocabs() {
+	for i, v := range testaid.WrongVocabs() {
 		for _, text := range []string{"", "a", "\xff", "a\xffa"} {
 			if list, e := bpe.Encode(v, []byte(text)); e != api.ErrVocab || len(list) != 0 {
 				t.Errorf("P5.3: wrong vocabulary %d: Encode(%q) = %v, %d, want ErrVocab", i, text, list, e)

@@ -11,7 +11,7 @@ import (
 )
 
 func TestArgumentsStay(t *testing.T) {
-	for _, plain := range append(someVocabs(), wrongVocabs()...) {
+	for _, plain := range append(someVocabs(), testaid.WrongVocabs()...) {
 		v := api.Vocab{Base: testaid.Roomy(plain.Base, 'a'), Pairs: testaid.Roomy(plain.Pairs, [2]int{1, 1})}
 		text := testaid.Roomy(bytes.Repeat(v.Base, 3), 'b')
 		tokens := testaid.Roomy([]int{1, 0, 1, 1}, 1)
@@ -62,7 +62,7 @@ func TestAnswersAreApart(t *testing.T) {
 		testaid.Overwrite(first, 'z')
 		testaid.Overwrite(third, 'y')
 		testaid.Overwrite(v.Base, 'z')
-		if string(second) != spelled(abc(), token) || string(fourth) != spelled(abc(), token) {
+		if string(second) != testaid.Spelled(abc(), token) || string(fourth) != testaid.Spelled(abc(), token) {
 			t.Errorf("P5.6: the bytes of token %d share memory: %q, %q", token, second, fourth)
 		}
 	}
@@ -77,7 +77,7 @@ func TestAllSharesNothing(t *testing.T) {
 	for range 2 {
 		var kept [][]byte
 		for token, piece := range all {
-			if string(piece) != spelled(abc(), token) {
+			if string(piece) != testaid.Spelled(abc(), token) {
 				t.Errorf("P5.6: token %d of All shares memory: %q", token, piece)
 			}
 			testaid.Overwrite(piece, 'x')
@@ -97,7 +97,7 @@ func TestAllSharesNothing(t *testing.T) {
 	changed := abc()
 	for token, piece := range bpe.All(changed) { // changed on the way
 		testaid.Overwrite(changed.Base, 'z')
-		if string(piece) != spelled(abc(), token) {
+		if string(piece) != testaid.Spelled(abc(), token) {
 			t.Errorf("P5.6: All reads what was handed in: token %d is %q", token, piece)
 		}
 	}

@@ -22,19 +22,6 @@ func bases(n int, first byte) []byte {
 	return out
 }
 
-// spelled: the bytes of a token of a right vocabulary, by the chapter's words.
-func spelled(v api.Vocab, token int) string {
-	switch b := len(v.Base); {
-	case token == 0:
-		return ""
-	case token <= b:
-		return string(v.Base[token-1 : token])
-	default:
-		pair := v.Pairs[token-b-1]
-		return spelled(v, pair[0]) + spelled(v, pair[1])
-	}
-}
-
 // right: the chapter's rule, with sets in place of comparing all with all.
 func right(v api.Vocab) bool {
 	if len(v.Base) < 1 || len(v.Base) > 48 || 1+len(v.Base)+len(v.Pairs) > 64 {
@@ -51,7 +38,7 @@ func right(v api.Vocab) bool {
 		if p[0] < 1 || p[1] < 1 || p[0] >= own || p[1] >= own {
 			return false
 		}
-		if len(spelled(api.Vocab{Base: v.Base, Pairs: v.Pairs[:j+1]}, own)) > 16 {
+		if len(testaid.Spelled(api.Vocab{Base: v.Base, Pairs: v.Pairs[:j+1]}, own)) > 16 {
 			return false
 		}
 	}
@@ -192,7 +179,7 @@ func filled(base, tokens int) api.Vocab {
 	v := api.Vocab{Base: bases(base, 100)}
 	for first := 1; 1+base+len(v.Pairs) < tokens; first++ {
 		for second := 1; second <= first && 1+base+len(v.Pairs) < tokens; second++ {
-			if w := with(v, [2]int{first, second}); len(spelled(w, base+len(w.Pairs))) <= 16 {
+			if w := with(v, [2]int{first, second}); len(testaid.Spelled(w, base+len(w.Pairs))) <= 16 {
 				v = w
 			}
 		}
@@ -280,15 +267,6 @@ func TestCheckAgainstTheRule(t *testing.T) {
 	}
 }
 
-// wrongVocabs: one for each way to be wrong.
-func wrongVocabs() []api.Vocab {
-	return []api.Vocab{
-		{}, {Base: []byte{}}, {Pairs: [][2]int{{1, 1}}}, {Base: bases(49, 0)}, {Base: []byte("aa")},
-		with(abc(), [2]int{0, 1}), with(abc(), [2]int{1, -1}), with(abc(), [2]int{7, 1}), with(abc(), [2]int{1, 8}), with(abc(), [2]int{1, 2}),
-		filled(8, 65), {Base: []byte("a"), Pairs: [][2]int{{1, 1}, {2, 2}, {3, 3}, {4, 4}, {5, 5}}},
-	}
-}
-
 // badTokens: what is no token of a vocabulary of that size.
 func badTokens(size int) []int {
 	return []int{math.MinInt, -1 << 32, -2, -1, size, size + 1, 1 << 32, 1<<32 + 1, math.MaxInt}
@@ -302,8 +280,8 @@ func TestBytes(t *testing.T) {
 	}
 	for _, v := range someVocabs() {
 		for token := range bpe.Size(v) {
-			if b, e := bpe.Bytes(v, token); e != api.OK || string(b) != spelled(v, token) {
-				t.Fatalf("P5.2: %v: Bytes(%d) = %q, %d, want %q", v, token, b, e, spelled(v, token))
+			if b, e := bpe.Bytes(v, token); e != api.OK || string(b) != testaid.Spelled(v, token) {
+				t.Fatalf("P5.2: %v: Bytes(%d) = %q, %d, want %q", v, token, b, e, testaid.Spelled(v, token))
 			}
 		}
 		for _, token := range badTokens(bpe.Size(v)) {
@@ -312,7 +290,7 @@ func TestBytes(t *testing.T) {
 			}
 		}
 	}
-	for i, v := range wrongVocabs() {
+	for i, v := range testaid.WrongVocabs() {
 		for token := -1; token <= 65; token++ {
 			if b, e := bpe.Bytes(v, token); e != api.ErrVocab || len(b) != 0 {
 				t.Errorf("P5.2: wrong vocabulary %d: Bytes(%d) = %q, %d, want ErrVocab", i, token, b, e)
@@ -344,7 +322,7 @@ func TestDecode(t *testing.T) {
 			tokens, want := []int{}, ""
 			for range n {
 				token := s.Below(bpe.Size(v))
-				tokens, want = append(tokens, token), want+spelled(v, token)
+				tokens, want = append(tokens, token), want+testaid.Spelled(v, token)
 			}
 			if b, e := bpe.Decode(v, tokens...); e != api.OK || string(b) != want {
 				t.Fatalf("P5.4: %v: Decode(%v) = %q, %d, want %q", v, tokens, b, e, want)
@@ -365,7 +343,7 @@ func TestDecode(t *testing.T) {
 	if b, e := bpe.Decode(abc(), many...); e != api.OK || !bytes.Equal(b, bytes.Repeat([]byte("abcaa"), 200000)) {
 		t.Errorf("P5.4: Decode of many tokens: %d bytes, %d", len(b), e)
 	}
-	for i, v := range wrongVocabs() {
+	for i, v := range testaid.WrongVocabs() {
 		for _, tokens := range [][]int{nil, {0}, {1}, {-1}, {64}} {
 			if b, e := bpe.Decode(v, tokens...); e != api.ErrVocab || len(b) != 0 {
 				t.Errorf("P5.4: wrong vocabulary %d: Decode(%v) = %q, %d, want ErrVocab", i, tokens, b, e)
@@ -379,8 +357,8 @@ func goneThrough(t *testing.T, all iter.Seq2[int, []byte], v api.Vocab, n int) {
 	t.Helper()
 	got := 0
 	for token, b := range all {
-		if token != got || string(b) != spelled(v, token) {
-			t.Fatalf("P5.5: %v: in place %d: %d, %q, want %q", v, got, token, b, spelled(v, got))
+		if token != got || string(b) != testaid.Spelled(v, token) {
+			t.Fatalf("P5.5: %v: in place %d: %d, %q, want %q", v, got, token, b, testaid.Spelled(v, got))
 		}
 		got++
 		if got == n {
@@ -403,7 +381,7 @@ func TestAll(t *testing.T) {
 		goneThrough(t, all, v, size+1)
 		goneThrough(t, bpe.All(v), v, size+1)
 	}
-	for i, v := range wrongVocabs() {
+	for i, v := range testaid.WrongVocabs() {
 		for token, b := range bpe.All(v) {
 			t.Errorf("P5.5: wrong vocabulary %d has %d, %q", i, token, b)
 		}
@@ -419,7 +397,7 @@ func TestAllTwoAtOnce(t *testing.T) {
 	defer stopSecond()
 	is := func(next func() (int, []byte, bool), token int) {
 		t.Helper()
-		if got, b, ok := next(); !ok || got != token || string(b) != spelled(v, token) {
+		if got, b, ok := next(); !ok || got != token || string(b) != testaid.Spelled(v, token) {
 			t.Errorf("P5.5: two at once: %d, %q, %v, want %d", got, b, ok, token)
 		}
 	}

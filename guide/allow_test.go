@@ -72,8 +72,8 @@ func TestStatesThatAreNotGood(t *testing.T) {
 
 // Tokens of the same bytes are told alike.
 func TestTokensAlike(t *testing.T) {
-	v := vocab("ab", [2]int{1, 1}, [2]int{1, 3}, [2]int{3, 1}, [2]int{2, 1}) // 4 and 5 are aaa
-	g := made(t, v, "a(aa)*b")                                               // behind an odd run of a 1, behind an even one 2, behind the b 3
+	v := testaid.Vocab("ab", [2]int{1, 1}, [2]int{1, 3}, [2]int{3, 1}, [2]int{2, 1}) // 4 and 5 are aaa
+	g := made(t, v, "a(aa)*b")                                                       // behind an odd run of a 1, behind an even one 2, behind the b 3
 	allows(t, g, 0, 7, 1, 3, 4, 5)
 	allows(t, g, 1, 7, 1, 2, 3, 4, 5)
 	allows(t, g, 2, 7, 1, 3, 4, 5)
@@ -87,10 +87,10 @@ func TestTokensAlike(t *testing.T) {
 
 // Tokens of many bytes: that lead through several states, through one again and again, fail at the first byte, at the last one, or are one byte too long.
 func TestLongTokens(t *testing.T) {
-	v := vocab("ab", [2]int{1, 1}, [2]int{3, 3}, [2]int{4, 4}, [2]int{5, 5}, [2]int{5, 4}, [2]int{7, 3}, [2]int{8, 1}, [2]int{9, 2}, [2]int{2, 5})
+	v := testaid.Vocab("ab", [2]int{1, 1}, [2]int{3, 3}, [2]int{4, 4}, [2]int{5, 5}, [2]int{5, 4}, [2]int{7, 3}, [2]int{8, 1}, [2]int{9, 2}, [2]int{2, 5})
 	all := []string{"", "a", "b", "aa", "aaaa", strings.Repeat("a", 8), strings.Repeat("a", 16), strings.Repeat("a", 12), strings.Repeat("a", 14), strings.Repeat("a", 15), strings.Repeat("a", 15) + "b", "b" + strings.Repeat("a", 8)}
 	for token, want := range all {
-		if got := spelled(v, token); got != want {
+		if got := testaid.Spelled(v, token); got != want {
 			t.Fatalf("token %d is %q", token, got)
 		}
 	}
@@ -148,7 +148,7 @@ func TestTheEnd(t *testing.T) {
 	leads(t, g, 63, 0, 63)
 	allows(t, g, 63, 4, 0)
 	noState(t, g, 64, api.ErrState, 0, 1, 4)
-	g = made(t, vocab("z"), "c*") // a state that accepts is good though no token leads on
+	g = made(t, testaid.Vocab("z"), "c*") // a state that accepts is good though no token leads on
 	allows(t, g, 0, 2, 0)
 	leads(t, g, 0, 0, 0)
 	leads(t, g, 0, 1, -1)
@@ -168,11 +168,11 @@ func TestErrorsInTheirOrder(t *testing.T) {
 		}
 	}
 	for _, state := range []int{0, 1} { // the last token, and one more, of the least vocabulary and of the greatest
-		least := made(t, vocab("a"), "a*a")
+		least := made(t, testaid.Vocab("a"), "a*a")
 		leads(t, least, state, 1, 1)
 		fails(t, least, state, 2, api.ErrToken)
 	}
-	full := vocab(letters(48))
+	full := testaid.Vocab(testaid.Letters(48))
 	for i := range 15 {
 		full.Pairs = append(full.Pairs, [2]int{1 + i, 1})
 	}
@@ -193,10 +193,10 @@ func TestGuidesAgainstTheWords(t *testing.T) {
 func TestGuidesOfManyTokens(t *testing.T) {
 	s := testaid.Source(141)
 	for range 150 {
-		v := someVocab(&s, "abcd", 200)
+		v := s.Vocab("abcd", 200)
 		var parts []string
 		for range 1 + s.Below(3) {
-			parts = append(parts, spelled(v, 1+s.Below(tokensOf(v)-1)))
+			parts = append(parts, testaid.Spelled(v, 1+s.Below(testaid.Tokens(v)-1)))
 		}
 		expr := []string{strings.Join(parts, "|"), "(" + strings.Join(parts, "|") + ")*", strings.Join(parts, "") + "[^a]?"}[s.Below(3)]
 		if e := holds(t, v, expr); e != api.OK && e != api.ErrStates {

@@ -130,7 +130,7 @@ func TestListsOfTokens(t *testing.T) {
 	s := testaid.Source(143)
 	words, stuck := 0, 0
 	for range 250 {
-		v := someVocab(&s, "abc", s.Below(4))
+		v := s.Vocab("abc", s.Below(4))
 		expr := someExpression(&s, 1+s.Below(5), "abc")
 		g, e, _ := guide.New(v, expr)
 		if e != api.OK {
@@ -140,7 +140,7 @@ func TestListsOfTokens(t *testing.T) {
 			continue
 		}
 		d := compiled(t, expr)
-		allLists(tokensOf(v), 3, func(tokens []int) {
+		allLists(testaid.Tokens(v), 3, func(tokens []int) {
 			state := behindAll(t, g, tokens)
 			if d.Match(spelledAll(v, tokens)) {
 				words++
@@ -179,10 +179,10 @@ func TestPairsMakeNothingGood(t *testing.T) {
 func TestWayOut(t *testing.T) {
 	for n := range 64 {
 		expr := strings.Repeat("a", n)
-		if rest := wayOut(t, made(t, vocab("a"), expr), 0); len(rest) != n {
+		if rest := wayOut(t, made(t, testaid.Vocab("a"), expr), 0); len(rest) != n {
 			t.Errorf("what follows: of %d times a the end is reached by %d tokens", n, len(rest))
 		}
-		long := vocab("ba", [2]int{2, 2}, [2]int{3, 3}, [2]int{4, 4}, [2]int{5, 5})
+		long := testaid.Vocab("ba", [2]int{2, 2}, [2]int{3, 3}, [2]int{4, 4}, [2]int{5, 5})
 		want := n / 16
 		for rest := n % 16; rest > 0; rest &= rest - 1 {
 			want++

@@ -25,7 +25,7 @@ func TestArgumentsStay(t *testing.T) {
 	for i := range 300 {
 		plain, expr, _ := somewhat(&s)
 		if i%3 == 0 {
-			plain = wrongVocabs()[i/3%10]
+			plain = testaid.WrongVocabs()[i/3%10]
 		}
 		expr = []string{expr, expr + ")", "y+", ".*a......"}[i%4]
 		v := roomy(plain)
@@ -105,7 +105,7 @@ func TestAnswersHangOnNothingElse(t *testing.T) {
 		v, expr, g := somewhat(&s)
 		n := compiled(t, expr).States()
 		for range 40 {
-			a := ask{s.Below(n+2) - 1, s.Below(tokensOf(v)+3) - 2}
+			a := ask{s.Below(n+2) - 1, s.Below(testaid.Tokens(v)+3) - 2}
 			if s.Below(3) == 0 {
 				a.token = -2
 			}
@@ -121,11 +121,11 @@ func TestAnswersHangOnNothingElse(t *testing.T) {
 // Two guides know nothing of one another: not those of one vocabulary and two expressions, nor of two vocabularies and one expression.
 func TestGuidesAreApart(t *testing.T) {
 	one, other := made(t, small(), "(ab)*"), made(t, small(), "(ba)*a?")
-	third := made(t, vocab("bac", [2]int{2, 3}), "(ab)*")
+	third := made(t, testaid.Vocab("bac", [2]int{2, 3}), "(ab)*")
 	for range 2 {
 		asWords(t, one, small(), "(ab)*")
 		asWords(t, other, small(), "(ba)*a?")
-		asWords(t, third, vocab("bac", [2]int{2, 3}), "(ab)*")
+		asWords(t, third, testaid.Vocab("bac", [2]int{2, 3}), "(ab)*")
 	}
 	if one.Start() != 0 || other.Start() != 0 {
 		t.Errorf("P12.2: Start: %d, %d", one.Start(), other.Start())

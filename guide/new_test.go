@@ -9,34 +9,11 @@ import (
 	"augur/testaid"
 )
 
-// letters: so many unlike bytes, from 0x30 on.
-func letters(n int) string {
-	out := []byte{}
-	for i := range n {
-		out = append(out, byte(0x30+i))
-	}
-	return string(out)
-}
-
-// wrongVocabs: one for each way to be wrong.
-func wrongVocabs() []api.Vocab {
-	many := vocab(letters(48))
-	for i := range 16 {
-		many.Pairs = append(many.Pairs, [2]int{1, 1 + i})
-	}
-	return []api.Vocab{
-		{}, {Base: []byte{}, Pairs: [][2]int{}}, {Pairs: [][2]int{{1, 1}}}, vocab("aa"), vocab("aba"), vocab(letters(49)), many,
-		vocab("ab", [2]int{0, 1}), vocab("ab", [2]int{1, 0}), vocab("ab", [2]int{1, 3}), vocab("ab", [2]int{-1, 1}), vocab("ab", [2]int{1, 2}, [2]int{1, 2}),
-		vocab("a", [2]int{1, 1}, [2]int{2, 2}, [2]int{3, 3}, [2]int{4, 4}, [2]int{5, 5}),
-		{Base: make([]byte, 1<<20)}, {Base: []byte("a"), Pairs: make([][2]int, 1<<20)},
-	}
-}
-
 func TestNewExamples(t *testing.T) {
 	refused(t, small(), "c+", api.ErrGuide, 0)
 	refused(t, small(), "a(", api.ErrRegex, 2)
 	for _, expr := range []string{"", "a", "(ab)*", "c+", "a(", ".*a......"} {
-		refused(t, vocab(""), expr, api.ErrVocab, 0)
+		refused(t, testaid.Vocab(""), expr, api.ErrVocab, 0)
 	}
 	for _, expr := range []string{"(ab)*", "ac|b", ""} {
 		made(t, small(), expr)
@@ -45,7 +22,7 @@ func TestNewExamples(t *testing.T) {
 
 // The vocabulary's error comes ahead of all others.
 func TestWrongVocabulary(t *testing.T) {
-	for _, v := range wrongVocabs() {
+	for _, v := range testaid.WrongVocabs() {
 		for _, expr := range []string{"", "a", "a*", ".*", "c+", "(", "a)", "ab[", "*", "\x00", ".*a......", strings.Repeat("a", 65), strings.Repeat("(", 1<<20)} {
 			refused(t, v, expr, api.ErrVocab, 0)
 		}
@@ -54,7 +31,7 @@ func TestWrongVocabulary(t *testing.T) {
 
 // Each of the expression's errors, with its place; that no word could be made of tokens either is not told.
 func TestWrongExpression(t *testing.T) {
-	for _, v := range []api.Vocab{small(), vocab("z"), vocab("(*"), vocab(letters(48))} {
+	for _, v := range []api.Vocab{small(), testaid.Vocab("z"), testaid.Vocab("(*"), testaid.Vocab(testaid.Letters(48))} {
 		for expr, at := range map[string]int{
 			"*a": 0, "a|*": 2, "(a": 2, "a)": 1, "a]": 1, "[]": 0, "[b-a]": 0, "x[a": 1, `[a-\d]`: 0, `\q`: 0, `a\`: 1, `\x4`: 0, `[^\x00-\xff]`: 0,
 			"ab\x0a": 2, "\xff": 0, "ab]": 2, "c+(": 3, "ccc)": 3, strings.Repeat("a", 65): 64, strings.Repeat(")", 65): 64, strings.Repeat("(", 64): 64, strings.Repeat("a*", 1<<20): 64,
@@ -69,8 +46,8 @@ func TestWrongExpression(t *testing.T) {
 
 // No word can be made of tokens: each has a byte that the vocabulary lacks.
 func TestNoWordOfTokens(t *testing.T) {
-	pairs := vocab("ab", [2]int{1, 2}, [2]int{2, 1}, [2]int{3, 4}, [2]int{5, 5}, [2]int{6, 6})
-	for _, v := range []api.Vocab{vocab("a"), vocab("ba"), small(), pairs} {
+	pairs := testaid.Vocab("ab", [2]int{1, 2}, [2]int{2, 1}, [2]int{3, 4}, [2]int{5, 5}, [2]int{6, 6})
+	for _, v := range []api.Vocab{testaid.Vocab("a"), testaid.Vocab("ba"), small(), pairs} {
 		for _, expr := range []string{
 			"c", "c+", "ac", "ca", "(a|b)*c", "ca|[^ab]", "a*ca*", "c|d|[e-z]", "(ab)+cab", "cab*", ".*c", ".*c.*", "ab?[^ab]", "a(b|c)*c", `\x00`, "A", "aB+",
 			strings.Repeat("a", 62) + "c", strings.Repeat("(ab)*", 12) + "c",
@@ -82,13 +59,13 @@ func TestNoWordOfTokens(t *testing.T) {
 		}
 	}
 	// One of a word's two bytes alone is not enough; both are, in whatever order the vocabulary has them.
-	refused(t, vocab("b"), "ab|ba", api.ErrGuide, 0)
-	refused(t, vocab("a"), "ab|ba", api.ErrGuide, 0)
-	made(t, vocab("ba"), "ab|ba")
-	made(t, vocab("ba", [2]int{1, 2}), "ab|ba")
+	refused(t, testaid.Vocab("b"), "ab|ba", api.ErrGuide, 0)
+	refused(t, testaid.Vocab("a"), "ab|ba", api.ErrGuide, 0)
+	made(t, testaid.Vocab("ba"), "ab|ba")
+	made(t, testaid.Vocab("ba", [2]int{1, 2}), "ab|ba")
 	// Tokens that begin as a word does and go on otherwise neither help nor hinder.
-	made(t, vocab("xyz", [2]int{1, 2}, [2]int{4, 3}), "xyx")
-	refused(t, vocab("xy", [2]int{1, 2}, [2]int{3, 3}), "xyz", api.ErrGuide, 0)
+	made(t, testaid.Vocab("xyz", [2]int{1, 2}, [2]int{4, 3}), "xyx")
+	refused(t, testaid.Vocab("xy", [2]int{1, 2}, [2]int{3, 3}), "xyz", api.ErrGuide, 0)
 }
 
 // Each of the 256 bytes, as the only one of the vocabulary and of the expression.
@@ -110,12 +87,12 @@ func TestNewAgainstTheWords(t *testing.T) {
 	s := testaid.Source(139)
 	count := map[api.Errno]int{}
 	for range 4000 {
-		v := someVocab(&s, "abcd", s.Below(10))
+		v := s.Vocab("abcd", s.Below(10))
 		switch s.Below(12) {
 		case 0:
 			v.Base[0] = v.Base[len(v.Base)-1]
 		case 1:
-			v.Pairs = append(v.Pairs, [2]int{s.Below(tokensOf(v) + 1), 1})
+			v.Pairs = append(v.Pairs, [2]int{s.Below(testaid.Tokens(v) + 1), 1})
 		}
 		expr := someExpression(&s, 1+s.Below(12), "abcd")
 		switch s.Below(8) {
@@ -138,15 +115,15 @@ func TestNewAgainstTheWords(t *testing.T) {
 
 // As many tokens, bytes of a token, and states as there may be.
 func TestNewGreatest(t *testing.T) {
-	full := vocab(letters(48))
+	full := testaid.Vocab(testaid.Letters(48))
 	for i := range 15 {
 		full.Pairs = append(full.Pairs, [2]int{1 + i, 2 + i})
 	}
-	long := vocab("ab", [2]int{1, 1}, [2]int{3, 3}, [2]int{4, 4}, [2]int{5, 5}, [2]int{5, 4}, [2]int{7, 3}, [2]int{8, 1}, [2]int{9, 2}, [2]int{1, 2})
-	if n := len(spelled(long, 6)); n != api.MaxPiece || tokensOf(full) != api.MaxVocab || len(spelled(long, 10)) != api.MaxPiece {
-		t.Fatalf("%d bytes, %d tokens", n, tokensOf(full))
+	long := testaid.Vocab("ab", [2]int{1, 1}, [2]int{3, 3}, [2]int{4, 4}, [2]int{5, 5}, [2]int{5, 4}, [2]int{7, 3}, [2]int{8, 1}, [2]int{9, 2}, [2]int{1, 2})
+	if n := len(testaid.Spelled(long, 6)); n != api.MaxPiece || testaid.Tokens(full) != api.MaxVocab || len(testaid.Spelled(long, 10)) != api.MaxPiece {
+		t.Fatalf("%d bytes, %d tokens", n, testaid.Tokens(full))
 	}
-	for _, v := range []api.Vocab{full, long, vocab("a"), vocab("b"), small()} {
+	for _, v := range []api.Vocab{full, long, testaid.Vocab("a"), testaid.Vocab("b"), small()} {
 		for _, expr := range []string{
 			".*a.....", ".*5.....", ".*[ab].....", strings.Repeat("a", 63), strings.Repeat(".", 63), strings.Repeat("a", 62) + "b?", strings.Repeat("a", 31) + "b" + strings.Repeat("a", 31), strings.Repeat("a?", 32), strings.Repeat("[ab]", 16), "(" + strings.Repeat("a", 61) + ")*", "(0123456789:;)*", "(" + strings.Repeat("a", 16) + ")*",
 		} {

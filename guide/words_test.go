@@ -14,30 +14,14 @@ import (
 
 // What is here says the chapter's words a second time, one by one, however slow that is, over the automaton of chapter 11.
 
-// spelled: the bytes of a token of a right vocabulary.
-func spelled(v api.Vocab, token int) string {
-	switch b := len(v.Base); {
-	case token == 0:
-		return ""
-	case token <= b:
-		return string(v.Base[token-1 : token])
-	default:
-		pair := v.Pairs[token-b-1]
-		return spelled(v, pair[0]) + spelled(v, pair[1])
-	}
-}
-
 // spelledAll: the bytes of tokens, one behind the other.
 func spelledAll(v api.Vocab, tokens []int) []byte {
 	var out []byte
 	for _, token := range tokens {
-		out = append(out, spelled(v, token)...)
+		out = append(out, testaid.Spelled(v, token)...)
 	}
 	return out
 }
-
-// tokensOf: how many tokens a right vocabulary has.
-func tokensOf(v api.Vocab) int { return 1 + len(v.Base) + len(v.Pairs) }
 
 // wordLeads: the state to which a token leads; -1, if it leads to none.
 func wordLeads(t *testing.T, d *regex.DFA, v api.Vocab, state, token int) int {
@@ -45,7 +29,7 @@ func wordLeads(t *testing.T, d *regex.DFA, v api.Vocab, state, token int) int {
 	if token == 0 {
 		return -1
 	}
-	text := spelled(v, token)
+	text := testaid.Spelled(v, token)
 	for i := 0; i < len(text) && state >= 0; i++ {
 		next, e := d.Next(state, text[i])
 		if e != api.OK {
@@ -68,7 +52,7 @@ func wordFar(t *testing.T, d *regex.DFA, v api.Vocab) []int {
 	}
 	for n := range d.States() {
 		for state := range far {
-			for token := 0; token < tokensOf(v) && far[state] < 0; token++ {
+			for token := 0; token < testaid.Tokens(v) && far[state] < 0; token++ {
 				if next := wordLeads(t, d, v, state, token); next >= 0 && far[next] == n {
 					far[state] = n + 1
 				}
@@ -172,7 +156,7 @@ func noState(t *testing.T, g *guide.Guide, state int, want api.Errno, tokens ...
 func asWords(t *testing.T, g *guide.Guide, v api.Vocab, expr string) {
 	t.Helper()
 	d := compiled(t, expr)
-	far, size := wordFar(t, d, v), tokensOf(v)
+	far, size := wordFar(t, d, v), testaid.Tokens(v)
 	for state := range d.States() {
 		var tokens []int
 		for token := range size {
@@ -218,31 +202,8 @@ func holds(t *testing.T, v api.Vocab, expr string) api.Errno {
 	return api.OK
 }
 
-// vocab: one of these base bytes and pairs.
-func vocab(base string, pairs ...[2]int) api.Vocab {
-	return api.Vocab{Base: []byte(base), Pairs: pairs}
-}
-
 // small: the vocabulary of the chapter's examples.
-func small() api.Vocab { return vocab("ab", [2]int{1, 2}) }
-
-// someVocab: a right vocabulary of some of the letters, in any order, and up to so many pairs.
-func someVocab(s *testaid.Source, letters string, pairs int) api.Vocab {
-	base := []byte(letters)
-	for i := range base {
-		j := i + s.Below(len(base)-i)
-		base[i], base[j] = base[j], base[i]
-	}
-	v := api.Vocab{Base: base[:1+s.Below(len(base))]}
-	for range pairs {
-		own := tokensOf(v)
-		w := api.Vocab{Base: v.Base, Pairs: slices.Concat(v.Pairs, [][2]int{{1 + s.Below(own-1), 1 + s.Below(own-1)}})}
-		if bpe.Check(w) == api.OK {
-			v = w
-		}
-	}
-	return v
-}
+func small() api.Vocab { return testaid.Vocab("ab", [2]int{1, 2}) }
 
 // someExpression: one of so many places, of the letters and of what stands for several bytes.
 func someExpression(s *testaid.Source, n int, letters string) string {
@@ -258,7 +219,7 @@ func someExpression(s *testaid.Source, n int, letters string) string {
 // somewhat: a drawn vocabulary and a drawn expression that have a guide.
 func somewhat(s *testaid.Source) (api.Vocab, string, *guide.Guide) {
 	for {
-		v, expr := someVocab(s, "abcd", s.Below(12)), someExpression(s, 1+s.Below(10), "abcd")
+		v, expr := s.Vocab("abcd", s.Below(12)), someExpression(s, 1+s.Below(10), "abcd")
 		if g, e, _ := guide.New(v, expr); e == api.OK {
 			return v, expr, g
 		}

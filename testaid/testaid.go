@@ -1,4 +1,4 @@
-// Package testaid: what the tests of several layers need: numbers that look drawn, weights made of them, trees, lists, and means to see whether memory is shared.
+// Package testaid: what the tests of several layers need: numbers that look drawn, weights made of them, trees, lists, vocabularies, and means to see whether memory is shared.
 package testaid
 
 import (
