@@ -322,3 +322,43 @@ func TestGauge(t *testing.T) {
 		}
 	}
 }
+
+// P20.13: what is looked for ahead of keeping is the prompt alone: what others keep behind it, where the answer happens to go on like theirs, is not used by that.
+func TestKeepingLooksAtPrompt(t *testing.T) {
+	g := ringOf(t, 8, 2, 16, 2, 1)
+	asks(t, g, 1, ask(api.PNone, 2, 3, 3, 3, 3, 3, 3, 3, 3, 3, 3, 3, 3, 3, 3))
+	asks(t, g, 2, ask(api.PNone, 9, 1, 2, 3))
+	steps(t, g, api.Did{Id: 2, Prefill: 2})
+	for _, token := range []int{1, 2, 3, 1} {
+		steps(t, g, api.Did{Id: 2, Nodes: 1, Tokens: []int{token}})
+	}
+	for range 5 {
+		steps(t, g, api.Did{Id: 1, Prefill: 2})
+	}
+	reports(t, g, api.Report{Did: []api.Did{{Id: 1, Prefill: 2}}, Out: []int{2}, Slots: 2}, 1)
+	g.Cancel(1)
+	rooms(t, g, 8, 7, 0, 1)
+	// Request 2 comes back to its first block; while it fills, request 3 has what follows kept, and then request 4 something else.
+	steps(t, g, api.Did{Id: 2, Prefill: 2})
+	asks(t, g, 3, ask(api.PNone, 1, round(7)...))
+	steps(t, g, api.Did{Id: 3, Prefill: 2})
+	steps(t, g, api.Did{Id: 3, Prefill: 2})
+	g.Cancel(3)
+	asks(t, g, 4, ask(api.PNone, 1, 2, 2, 2))
+	steps(t, g, api.Did{Id: 4, Prefill: 2})
+	g.Cancel(4)
+	rooms(t, g, 8, 3, 2, 3)
+	steps(t, g, api.Did{Id: 2, Prefill: 2})
+	rooms(t, g, 8, 2, 3, 3)
+	// One kept block must go: request 3's was used longer ago than request 4's.
+	asks(t, g, 5, ask(api.PNone, 1, 3, 3, 3, 3, 3, 3, 3, 3, 3))
+	for range 3 {
+		steps(t, g, api.Did{Id: 5, Prefill: 2})
+	}
+	rooms(t, g, 8, 0, 6, 2)
+	g.Cancel(5)
+	asks(t, g, 6, ask(api.PNone, 1, 2, 2, 2))
+	steps(t, g, api.Did{Id: 6, Nodes: 1, Tokens: []int{3}})
+	asks(t, g, 7, ask(api.PNone, 1, round(7)...))
+	steps(t, g, api.Did{Id: 7, Prefill: 2})
+}
