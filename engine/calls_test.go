@@ -8,6 +8,7 @@ import (
 
 	"augur/api"
 	"augur/engine"
+	"augur/testaid"
 )
 
 // fault: one way in which an ask is wrong.
@@ -169,7 +170,7 @@ func TestOfferRefuses(t *testing.T) {
 		if kind == api.PRaw {
 			want, long = api.OK, api.ErrTree
 		}
-		for _, raw := range [][]api.RawNode{nil, {}, rawOf(-1, 1), many[:api.MaxRaw]} {
+		for _, raw := range [][]api.RawNode{nil, {}, testaid.RawOf(-1, 1), many[:api.MaxRaw]} {
 			if e := g.Offer(kind+1, raw); e != want {
 				t.Errorf("P20.3: %d nodes offered to one of the kind %d: %d, want %d", len(raw), kind, e, want)
 			}
@@ -217,7 +218,7 @@ func TestNobody(t *testing.T) {
 		}
 	}
 	for _, id := range strangers(3) {
-		if s, e := g.Poll(id); e != api.ErrRequest || !sameState(s, api.State{}) {
+		if s, e := g.Poll(id); e != api.ErrRequest || !testaid.SameState(s, api.State{}) {
 			t.Errorf("P20.5: Poll(%d): %v, %d", id, s, e)
 		}
 	}
@@ -282,7 +283,7 @@ func TestNil(t *testing.T) {
 	if e := g.Cancel(1); e != api.ErrArg {
 		t.Errorf("R3: Cancel: %d", e)
 	}
-	if s, e := g.Poll(1); e != api.ErrArg || !sameState(s, api.State{}) {
+	if s, e := g.Poll(1); e != api.ErrArg || !testaid.SameState(s, api.State{}) {
 		t.Errorf("R3: Poll: %v, %d", s, e)
 	}
 	if k, v, e := g.Cached(1, 0, 0); k != nil || v != nil || e != api.ErrArg {
@@ -294,7 +295,7 @@ func TestNil(t *testing.T) {
 	if b, e := g.Blocks(1); len(b) != 0 || e != api.ErrArg {
 		t.Errorf("R3: Blocks: %v, %d", b, e)
 	}
-	if r := g.Step(1, 2); !sameReport(r, api.Report{}) {
+	if r := g.Step(1, 2); !testaid.SameReport(r, api.Report{}) {
 		t.Errorf("R3: Step: %+v", r)
 	}
 	if len(g.Live()) != 0 {

@@ -10,56 +10,24 @@ import (
 	"augur/testaid"
 )
 
-// ring: DOC.md's model, in which 2 comes behind 1, 3 behind 2, 1 behind 3, and 0 behind 0.
-func ring() api.Weights {
-	square := func(places ...int) api.Mat {
-		m := api.Mat{Rows: 4, Cols: 4, Data: make([]int8, 16)}
-		for row, place := range places {
-			m.Data[row*4+place] = 100
-		}
-		return m
-	}
-	zero := func(rows, cols int) api.Mat { return api.Mat{Rows: rows, Cols: cols, Data: make([]int8, rows*cols)} }
-	gains := func() []int8 { return []int8{64, 64, 64, 64} }
-	return api.Weights{
-		Config: api.Config{Vocab: 4, Width: 4, Heads: 1, KV: 1, Layers: 1, Hidden: 1, Len: 16, Medusa: 1},
-		Embed:  square(0, 1, 2, 3),
-		Turns:  []api.Turn{{C: api.Unit}, {C: api.Unit}},
-		Layers: []api.Layer{{Norm1: gains(), Norm2: gains(), Q: zero(4, 4), K: zero(4, 4), V: zero(4, 4), O: zero(4, 4), G: zero(1, 4), U: zero(1, 4), D: zero(4, 1)}},
-		Final:  gains(),
-		Head:   square(0, 3, 1, 2),
-		Medusa: []api.Mat{square(0, 2, 3, 1)},
-	}
-}
-
 var (
-	ringVocab = testaid.Vocab("abc")
-	ringServe = api.Serve{Blocks: 8, Block: 4, Budget: 16, Chunk: 2, Tree: 8}
+	ringVocab = testaid.RingVocab()
+	ringServe = testaid.RingServe
 )
 
 func ringEngine(t *testing.T) *engine.Engine {
 	t.Helper()
-	return newEngine(t, newModel(t, ring()), ringVocab, ringServe)
-}
-
-// tiny: the chapter's model: chapter 8's with Len 12 and the Head rows 0 0, 1 0, 0 1.
-func tiny() api.Weights {
-	g := []int8{64, 64}
-	d := api.Mat{Rows: 2, Cols: 2, Data: []int8{64, 0, 0, 64}}
-	line := api.Mat{Rows: 1, Cols: 2, Data: []int8{0, 0}}
-	l := api.Layer{Norm1: g, Norm2: g, Q: d, K: d, V: d, O: d, G: line, U: line, D: api.Mat{Rows: 2, Cols: 1, Data: []int8{0, 0}}, By: api.Shifts{6, 6, 6, 0, 0, 0, 0}}
-	e := api.Mat{Rows: 3, Cols: 2, Data: []int8{0, 0, 1, 0, 0, 1}}
-	return api.Weights{Config: api.Config{Vocab: 3, Width: 2, Heads: 1, KV: 1, Layers: 1, Hidden: 1, Len: 12}, Embed: e, Turns: []api.Turn{{C: 0, S: 16384}}, Layers: []api.Layer{l}, Final: g, Head: e}
+	return newEngine(t, newModel(t, testaid.Ring()), ringVocab, ringServe)
 }
 
 var (
-	tinyVocab = testaid.Vocab("ab")
-	tinyServe = api.Serve{Blocks: 8, Block: 2, Budget: 8, Chunk: 3, Tree: 4}
+	tinyVocab = testaid.TinyVocab()
+	tinyServe = testaid.TinyServe
 )
 
 func tinyEngine(t *testing.T) *engine.Engine {
 	t.Helper()
-	return newEngine(t, newModel(t, tiny()), tinyVocab, tinyServe)
+	return newEngine(t, newModel(t, testaid.Tiny()), tinyVocab, tinyServe)
 }
 
 // asks: an ask that is accepted with this number.
@@ -74,14 +42,14 @@ func asks(t *testing.T, g *engine.Engine, want int, a api.Ask) {
 func steps(t *testing.T, g *engine.Engine, want api.Did) {
 	t.Helper()
 	r := g.Step(want.Id)
-	if !sameReport(r, api.Report{Did: []api.Did{want}, Slots: want.Prefill + want.Nodes}) {
+	if !testaid.SameReport(r, api.Report{Did: []api.Did{want}, Slots: want.Prefill + want.Nodes}) {
 		t.Fatalf("P20.15: %+v, want %+v", r, want)
 	}
 }
 
 func polls(t *testing.T, g *engine.Engine, id, status int, tokens ...int) {
 	t.Helper()
-	if s, e := g.Poll(id); e != api.OK || !sameState(s, api.State{Status: status, Tokens: tokens}) {
+	if s, e := g.Poll(id); e != api.OK || !testaid.SameState(s, api.State{Status: status, Tokens: tokens}) {
 		t.Fatalf("P20.5: Poll(%d): %v, %d, want %d, %v", id, s, e, status, tokens)
 	}
 }
@@ -103,23 +71,14 @@ func rooms(t *testing.T, g *engine.Engine, want ...int) {
 
 func offers(t *testing.T, g *engine.Engine, id int, numbers ...int) {
 	t.Helper()
-	if e := g.Offer(id, rawOf(numbers...)); e != api.OK {
+	if e := g.Offer(id, testaid.RawOf(numbers...)); e != api.OK {
 		t.Fatalf("P20.3: Offer(%d, %v): %d", id, numbers, e)
 	}
 }
 
-// rawOf: a raw tree of parents and tokens, one behind the other.
-func rawOf(numbers ...int) []api.RawNode {
-	var raw []api.RawNode
-	for i := 0; i < len(numbers); i += 2 {
-		raw = append(raw, api.RawNode{Parent: numbers[i], Token: numbers[i+1]})
-	}
-	return raw
-}
-
 // DOC.md's examples 1 and 8.
 func TestExampleRef(t *testing.T) {
-	m := newModel(t, ring())
+	m := newModel(t, testaid.Ring())
 	drawn := api.Params{Temp: 256, TopP: 1000, Penalty: 256, Seed: 5}
 	if is := reference(t, m, ringVocab, api.Ask{Prompt: []int{1}, New: 5, Params: greedy}); !slices.Equal(is, []int{2, 3, 1, 2, 3}) {
 		t.Errorf("example 1: %v", is)
@@ -258,7 +217,7 @@ func TestExampleChapter(t *testing.T) {
 		}
 	}
 	for _, picks := range [][]int{nil, {}, {1, 2, 5, 0, -3}} {
-		if r := g.Step(picks...); !sameReport(r, api.Report{}) {
+		if r := g.Step(picks...); !testaid.SameReport(r, api.Report{}) {
 			t.Errorf("P20.15: picked %v: %+v", picks, r)
 		}
 	}
@@ -266,7 +225,7 @@ func TestExampleChapter(t *testing.T) {
 
 // The chapter's examples 1 and 2, P20.1's other edges, and the order of New's errors.
 func TestNew(t *testing.T) {
-	m := newModel(t, tiny())
+	m := newModel(t, testaid.Tiny())
 	with := func(change func(c *api.Serve)) api.Serve {
 		c := tinyServe
 		change(&c)

@@ -70,7 +70,7 @@ func TestEverybodyEnds(t *testing.T) {
 			t.Fatalf("W5: behind %d of %d steps %v are live", n, most, live)
 		}
 		for i, r := range p.b.rows {
-			if state, _ := p.g.Poll(i + 1); r.over == api.Done && !sameState(state, api.State{Status: api.Done, Tokens: r.ref}) {
+			if state, _ := p.g.Poll(i + 1); r.over == api.Done && !testaid.SameState(state, api.State{Status: api.Done, Tokens: r.ref}) {
 				t.Fatalf("W1: request %d: %v, want %v", i+1, state, r.ref)
 			}
 		}
@@ -82,7 +82,7 @@ func TestEverybodyEnds(t *testing.T) {
 
 // W4, in brackets: alone, with the next tokens of Ref offered as a chain in every step, as many steps as the gauge's sizes take to come to Ref.
 func TestGuessingPays(t *testing.T) {
-	m := newModel(t, ring())
+	m := newModel(t, testaid.Ring())
 	for size := 1; size <= 32; size++ {
 		for _, budget := range []int{1, 2, 5, 64} {
 			c := api.Serve{Blocks: 64, Block: 1, Budget: budget, Chunk: 1, Tree: size}
@@ -117,12 +117,12 @@ func TestNobodyIsSeen(t *testing.T) {
 	s := testaid.Source(6)
 	for range 60 {
 		p := newPlay(t, &s)
-		q := &play{t: t, s: &s, guides: p.guides, prompts: p.prompts}
-		c := someServe(&s, p.b.m.Config().Len)
+		q := &play{t: t, s: &s, Asker: p.Asker}
+		c := s.Serve(p.b.m.Config().Len)
 		q.b, q.g = newBook(t, p.b.m, p.b.v, c), newEngine(t, p.b.m, p.b.v, c)
 		pairs := map[int]int{}
 		for range 6 {
-			a := p.ask()
+			a := p.Ask()
 			first := p.b.submit(a)
 			asks(t, p.g, first, a)
 			for range s.Below(2) {
@@ -153,7 +153,7 @@ func TestGuided(t *testing.T) {
 	words, beginnings := 0, 0
 	for range 60 {
 		p := newPlay(t, &s)
-		p.guides = []string{"(ab)*", "a?b?a?b?", "(aa|bb)+", "b(a|b)*a", "[ab][ab]?b+"}
+		p.Guides = []string{"(ab)*", "a?b?a?b?", "(aa|bb)+", "b(a|b)*a", "[ab][ab]?b+"}
 		for range 60 {
 			p.act()
 			for i, r := range p.b.rows {
@@ -216,11 +216,11 @@ func TestBeginningsKeptOnce(t *testing.T) {
 		long := m.Config().Len
 		c := api.Serve{Blocks: 256, Block: 1 + s.Below(4), Budget: 64, Chunk: 64, Tree: 4}
 		g := newEngine(t, m, v, c)
-		p := &play{t: t, s: &s, b: newBook(t, m, v, c)}
-		p.prompts = [][]int{p.tokens(long - 1), p.tokens(long - 1)}
+		p := &testaid.Asker{Source: &s, Long: long, Vocab: m.Config().Vocab}
+		p.Prompts = [][]int{p.Some(long - 1), p.Some(long - 1)}
 		var before [][]int
 		for id := 1; id <= 8; id++ {
-			a := p.ask()
+			a := p.Ask()
 			cached := 0
 			for _, other := range before {
 				n := min(common(a.Prompt, other), len(other)-1, len(a.Prompt)-1)
@@ -274,7 +274,7 @@ func TestCachedBelowKnown(t *testing.T) {
 
 // R6: two engines over one model know nothing of one another.
 func TestTwoEngines(t *testing.T) {
-	m := newModel(t, ring())
+	m := newModel(t, testaid.Ring())
 	run := func(beside *engine.Engine) []api.Report {
 		g := newEngine(t, m, ringVocab, ringServe)
 		var out []api.Report
@@ -288,7 +288,7 @@ func TestTwoEngines(t *testing.T) {
 		}
 		return out
 	}
-	if !slices.EqualFunc(run(nil), run(ringEngine(t)), sameReport) {
+	if !slices.EqualFunc(run(nil), run(ringEngine(t)), testaid.SameReport) {
 		t.Error("R6: beside another engine another answer")
 	}
 }

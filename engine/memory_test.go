@@ -9,26 +9,7 @@ import (
 	"augur/testaid"
 )
 
-var (
-	rawMark = api.RawNode{Parent: 77, Token: 78}
-	didMark = api.Did{Id: 77, Prefill: 78}
-)
-
-// spoilReport: writes all over an answer, the room behind its lists too.
-func spoilReport(r api.Report) {
-	for _, d := range r.Did {
-		_ = append(d.Tokens, 99)
-		testaid.Overwrite(d.Tokens, 99)
-	}
-	_, _ = append(r.Out, 99), append(r.Did, didMark)
-	testaid.Overwrite(r.Out, 99)
-	testaid.Overwrite(r.Did, didMark)
-}
-
-func spoil[T any](list []T, mark T) {
-	_ = append(list, mark)
-	testaid.Overwrite(list, mark)
-}
+var rawMark = api.RawNode{Parent: 77, Token: 78}
 
 // stays: the call leaves a list and the room behind it as they are.
 func stays[T comparable](t *testing.T, list []T, call func()) {
@@ -45,7 +26,7 @@ type spoiler struct{ *play }
 
 func (p spoiler) submit() {
 	p.t.Helper()
-	a := p.ask()
+	a := p.Ask()
 	if len(p.b.lives()) == api.MaxLive {
 		return
 	}
@@ -70,26 +51,26 @@ func (p spoiler) step() {
 	want := p.b.step(picks...)
 	var is api.Report
 	stays(p.t, picks, func() { is = p.g.Step(picks...) })
-	if !sameReport(is, want) {
+	if !testaid.SameReport(is, want) {
 		p.t.Fatalf("P20.15: picked %v: %+v, want %+v", picks, is, want)
 	}
 	testaid.Overwrite(picks, 1)
-	spoilReport(is)
+	testaid.SpoilReport(is)
 }
 
 // spoilAnswers: of all calls that tell.
 func (p spoiler) spoilAnswers() {
-	spoil(p.g.Live(), 99)
+	testaid.Spoil(p.g.Live(), 99)
 	for i := range p.b.rows {
 		state, _ := p.g.Poll(i + 1)
-		spoil(state.Tokens, 99)
+		testaid.Spoil(state.Tokens, 99)
 		blocks, _ := p.g.Blocks(i + 1)
-		spoil(blocks, 99)
+		testaid.Spoil(blocks, 99)
 		for layer := range p.b.m.Config().Layers {
 			for pos := range p.b.rows[i].cached {
 				k, v, _ := p.g.Cached(i+1, layer, pos)
-				spoil(k, 99)
-				spoil(v, 99)
+				testaid.Spoil(k, 99)
+				testaid.Spoil(v, 99)
 			}
 		}
 	}
@@ -119,7 +100,7 @@ func TestNothingShared(t *testing.T) {
 // P20.16: the vocabulary that was handed in is neither changed nor kept.
 func TestVocabNotKept(t *testing.T) {
 	v := api.Vocab{Base: testaid.Roomy([]byte("a"), 'x'), Pairs: testaid.Roomy([][2]int{{1, 1}}, [2]int{7, 7})}
-	m := newModel(t, tiny())
+	m := newModel(t, testaid.Tiny())
 	var g *engine.Engine
 	stays(t, v.Base, func() {
 		stays(t, v.Pairs, func() { g = newEngine(t, m, v, tinyServe) })
@@ -143,8 +124,8 @@ func TestAnswersApart(t *testing.T) {
 	r := g.Step(1, 2)
 	one, _ := g.Poll(1)
 	again, _ := g.Poll(1)
-	spoil(r.Did[0].Tokens, 99)
-	spoil(one.Tokens, 98)
+	testaid.Spoil(r.Did[0].Tokens, 99)
+	testaid.Spoil(one.Tokens, 98)
 	for _, tokens := range [][]int{r.Did[1].Tokens, again.Tokens} {
 		if !slices.Equal(tokens, []int{2, 3, 1}) {
 			t.Errorf("R5: %v", tokens)
@@ -153,6 +134,6 @@ func TestAnswersApart(t *testing.T) {
 	polls(t, g, 1, api.Running, 2, 3, 1)
 	g.Cancel(1)
 	over, _ := g.Poll(1)
-	spoil(over.Tokens, 97)
+	testaid.Spoil(over.Tokens, 97)
 	polls(t, g, 1, api.Cancelled, 2, 3, 1)
 }

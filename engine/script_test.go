@@ -1,7 +1,6 @@
 package engine_test
 
 import (
-	"slices"
 	"testing"
 
 	"augur/api"
@@ -16,76 +15,26 @@ type play struct {
 	s *testaid.Source
 	b *book
 	g *engine.Engine
-	// prompts: requests begin like these, so that they share.
-	prompts [][]int
-	guides  []string
+	*testaid.Asker
 }
 
 // someModel: a drawn one, with a vocabulary for it.
 func someModel(t *testing.T, s *testaid.Source) (*model.Model, api.Vocab) {
 	t.Helper()
-	v := testaid.Vocab("ab", [2]int{1, 2}, [2]int{2, 2}, [2]int{3, 1})
-	v.Pairs = v.Pairs[:s.Below(4)]
-	heads := 1 + s.Below(2)
-	c := api.Config{Vocab: testaid.Tokens(v), Width: 4 * heads, Heads: heads, KV: 1, Layers: 1 + s.Below(2), Hidden: 1 + s.Below(4), Len: 8 + s.Below(17), Medusa: s.Below(4)}
-	return newModel(t, lively(s, c)), v
-}
-
-// someServe: drawn measures for texts of so many tokens; a pool that is short as often as not.
-func someServe(s *testaid.Source, long int) api.Serve {
-	c := api.Serve{Block: 1 + s.Below(5), Chunk: 1 + s.Below(5), Tree: 1 + s.Below(8)}
-	least := (long + c.Block - 1) / c.Block
-	c.Blocks = least + []int{0, 1, s.Below(least + 1), 3 * least}[s.Below(4)]
-	c.Budget = c.Chunk + s.Below(20)
-	return c
+	w, v := s.Small()
+	return newModel(t, w), v
 }
 
 func newPlay(t *testing.T, s *testaid.Source) *play {
 	t.Helper()
 	m, v := someModel(t, s)
-	c := someServe(s, m.Config().Len)
-	p := &play{t: t, s: s, b: newBook(t, m, v, c), g: newEngine(t, m, v, c), guides: []string{"(ab)*", "b*", "(a|b)+a?", "ab+"}}
-	for range 3 {
-		p.prompts = append(p.prompts, p.tokens(m.Config().Len-1))
-	}
-	return p
-}
-
-// tokens: up to so many, one at least, End rarely among them.
-func (p *play) tokens(most int) []int {
-	var out []int
-	for range 1 + p.s.Below(most) {
-		out = append(out, (p.s.Below(40)+1)%p.b.m.Config().Vocab)
-	}
-	return out
-}
-
-func (p *play) params() api.Params {
-	if p.s.Below(2) == 0 {
-		return greedy
-	}
-	return api.Params{Temp: p.s.Below(1000), TopK: p.s.Below(5), TopP: 500 + p.s.Below(501), Penalty: 128 + p.s.Below(400), Seed: p.s.Next()}
-}
-
-// ask: a request that may be.
-func (p *play) ask() api.Ask {
-	long := p.b.m.Config().Len
-	prompt := p.prompts[p.s.Below(len(p.prompts))]
-	prompt = slices.Clone(prompt[:1+p.s.Below(len(prompt))])
-	if p.s.Below(3) == 0 {
-		prompt = append(prompt, p.tokens(3)...)
-	}
-	prompt = prompt[:min(len(prompt), long-1)]
-	a := api.Ask{Prompt: prompt, New: 1 + p.s.Below(long-len(prompt)), Params: p.params(), Proposer: p.s.Below(5)}
-	if len(p.guides) > 0 && p.s.Below(3) == 0 {
-		a.Guide = p.guides[p.s.Below(len(p.guides))]
-	}
-	return a
+	c := s.Serve(m.Config().Len)
+	return &play{t: t, s: s, b: newBook(t, m, v, c), g: newEngine(t, m, v, c), Asker: s.Asker(m.Config())}
 }
 
 func (p *play) submit() {
 	p.t.Helper()
-	a := p.ask()
+	a := p.Ask()
 	if len(p.b.lives()) == api.MaxLive {
 		if id, e := p.g.Submit(a); id != 0 || e != api.ErrMany {
 			p.t.Fatalf("P20.2: a request too many: %d, %d", id, e)
@@ -98,22 +47,8 @@ func (p *play) submit() {
 	}
 }
 
-// raw: guesses of which some are the next tokens of Ref, and some are ill made.
-func (p *play) raw(r *row) []api.RawNode {
-	var raw []api.RawNode
-	parent := -1
-	for _, token := range r.ref[r.told:] {
-		for range p.s.Below(3) {
-			raw = append(raw, api.RawNode{Parent: p.s.Below(len(raw)+3) - 2, Token: p.s.Below(p.b.m.Config().Vocab+2) - 1})
-		}
-		if p.s.Below(7) == 0 {
-			break
-		}
-		raw = append(raw, api.RawNode{Parent: parent, Token: token})
-		parent = len(raw) - 1
-	}
-	return raw[:min(len(raw), api.MaxRaw)]
-}
+// raw: guesses for a request.
+func (p *play) raw(r *row) []api.RawNode { return p.Raw(r.ref[r.told:]) }
 
 func (p *play) offer(id int) {
 	p.t.Helper()
@@ -153,7 +88,7 @@ func (p *play) someone() int { return p.s.Below(len(p.b.rows) + 2) }
 func (p *play) step(picks ...int) {
 	p.t.Helper()
 	want, is := p.b.step(picks...), p.g.Step(picks...)
-	if !sameReport(is, want) {
+	if !testaid.SameReport(is, want) {
 		p.t.Fatalf("P20.15: picked %v: %+v, want %+v", picks, is, want)
 	}
 	p.withinBounds(is)

@@ -6,12 +6,13 @@ import (
 
 	"augur/api"
 	"augur/engine"
+	"augur/testaid"
 )
 
 // ringOf: an engine of the ring with other measures.
 func ringOf(t *testing.T, blocks, block, budget, chunk, tree int) *engine.Engine {
 	t.Helper()
-	return newEngine(t, newModel(t, ring()), ringVocab, api.Serve{Blocks: blocks, Block: block, Budget: budget, Chunk: chunk, Tree: tree})
+	return newEngine(t, newModel(t, testaid.Ring()), ringVocab, api.Serve{Blocks: blocks, Block: block, Budget: budget, Chunk: chunk, Tree: tree})
 }
 
 // round: the first n tokens of 1 2 3 1 2 3 ..
@@ -31,7 +32,7 @@ func ask(kind, fresh int, prompt ...int) api.Ask {
 // reports: a step that is told so.
 func reports(t *testing.T, g *engine.Engine, want api.Report, picks ...int) {
 	t.Helper()
-	if r := g.Step(picks...); !sameReport(r, want) {
+	if r := g.Step(picks...); !testaid.SameReport(r, want) {
 		t.Fatalf("P20.15: picked %v: %+v, want %+v", picks, r, want)
 	}
 }

@@ -7,12 +7,9 @@ import (
 	"augur/api"
 	"augur/engine"
 	"augur/gauge"
-	"augur/guide"
-	"augur/heads"
 	"augur/medusa"
 	"augur/model"
 	"augur/ngram"
-	"augur/pick"
 	"augur/pool"
 	"augur/prefix"
 	"augur/sched"
@@ -24,7 +21,7 @@ import (
 // The chapter's words, said a second time. Nothing is passed through the model here: what a request answers is Ref, found one token at a time without a cache, and guesses are held against it.
 
 // greedy: DOC.md's.
-var greedy = api.Params{TopP: 1000, Penalty: 256}
+var greedy = testaid.Greedy
 
 // row: a request as the words tell it.
 type row struct {
@@ -69,34 +66,11 @@ func newBook(t *testing.T, m *model.Model, v api.Vocab, c api.Serve) *book {
 // reference: Ref of a request.
 func reference(t *testing.T, m *model.Model, v api.Vocab, a api.Ask) []int {
 	t.Helper()
-	var g *guide.Guide
-	if a.Guide != "" {
-		g, _, _ = guide.New(v, a.Guide)
+	ref, e := testaid.Ref(m, v, a)
+	if e != api.OK {
+		t.Fatalf("no Ref of %+v: %d", a, e)
 	}
-	s, state := slices.Clone(a.Prompt), 0
-	for range a.New {
-		points, e := xform.Full(m, s)
-		if e != api.OK {
-			t.Fatalf("Full of %v: %d", s, e)
-		}
-		logits, _ := heads.Logits(m, points[len(s)-1].Hidden)
-		var allow []bool
-		if g != nil {
-			allow, _ = g.Allow(state)
-		}
-		next, e := pick.Choose(a.Params, logits, s, len(s), allow)
-		if e != api.OK {
-			t.Fatalf("Choose of %+v: %d", a.Params, e)
-		}
-		if g != nil {
-			state, _ = g.Next(state, next)
-		}
-		s = append(s, next)
-		if next == api.End {
-			break
-		}
-	}
-	return s[len(a.Prompt):]
+	return ref
 }
 
 // submit: a request that is accepted.
@@ -344,15 +318,6 @@ func (b *book) decoded(id int, t []api.Node) api.Did {
 	return api.Did{Id: id, Nodes: len(t), Accepted: k, Tokens: tokens}
 }
 
-// sameReport: alike; no list and one without elements are the same.
-func sameReport(a, b api.Report) bool {
-	return a.Slots == b.Slots && slices.Equal(a.Out, b.Out) && slices.EqualFunc(a.Did, b.Did, func(a, b api.Did) bool {
-		return a.Id == b.Id && a.Prefill == b.Prefill && a.Nodes == b.Nodes && a.Accepted == b.Accepted && slices.Equal(a.Tokens, b.Tokens)
-	})
-}
-
-func sameState(a, b api.State) bool { return a.Status == b.Status && slices.Equal(a.Tokens, b.Tokens) }
-
 // agree: all that an engine tells is what the words say.
 func (b *book) agree(t *testing.T, g *engine.Engine) {
 	t.Helper()
@@ -365,7 +330,7 @@ func (b *book) agree(t *testing.T, g *engine.Engine) {
 	}
 	for i, r := range b.rows {
 		id := i + 1
-		if s, e := g.Poll(id); e != api.OK || !sameState(s, r.state()) {
+		if s, e := g.Poll(id); e != api.OK || !testaid.SameState(s, r.state()) {
 			t.Fatalf("P20.5: request %d of %+v: %v, %d, want %v", id, r.ask, s, e, r.state())
 		}
 		n, e := g.Filled(id)
@@ -417,15 +382,6 @@ func (b *book) blocksAreRight(t *testing.T, g *engine.Engine) {
 			}
 		}
 	}
-}
-
-// lively: the measures of a model, and weights of numbers that tell.
-func lively(s *testaid.Source, c api.Config) api.Weights {
-	w := s.Weights(c)
-	for i := range w.Layers {
-		w.Layers[i].By = api.Shifts{7, 7, 7, 1, 3, 6, 1}
-	}
-	return w
 }
 
 func newModel(t *testing.T, w api.Weights) *model.Model {
