@@ -410,3 +410,50 @@ func TestAnyNodes(t *testing.T) {
 		}
 	}
 }
+
+// drawnPage: an entry with a right digest: one of a book, or one of it with some bytes of its body or its letter changed, left out or put in.
+func drawnPage(s *testaid.Source, d *diary) []byte {
+	p := d.pages[1+s.Below(len(d.pages)-1)]
+	letter, body := p[0], slices.Clone(p[5:len(p)-8])
+	for range s.Below(3) {
+		at := s.Below(len(body) + 1)
+		switch s.Below(4) {
+		case 0:
+			body = slices.Insert(body, at, byte(s.Below(4)))
+		case 1:
+			body = body[:at]
+		case 2:
+			letter = "HDLSOTX"[s.Below(7)]
+		default:
+			if at < len(body) {
+				body[at] = byte(s.Below(256))
+			}
+		}
+	}
+	return page(letter, body...)
+}
+
+// R1, P21.7, P21.8: of any book: what is good of it is the journal's book, and that is good as a whole.
+func TestAnyBooks(t *testing.T) {
+	s := testaid.Source(3)
+	d := full(t)
+	good := 0
+	for range 3000 {
+		book := slices.Concat(d.pages[:1+s.Below(len(d.pages))]...)
+		first := len(book)
+		for range s.Below(12) {
+			book = slices.Concat(book, drawnPage(&s, d))
+		}
+		j, n, e := journal.Open(d.m, d.v, d.c, book)
+		if j == nil || e != api.OK || n < first || n > len(book) || !bytes.Equal(j.Book(), book[:n]) {
+			t.Fatalf("P21.7: Open of %v: %d, %d", book, n, e)
+		}
+		good += n - first
+		j.Compact()
+		alike(t, "P21.8", j, d.opens(t, "P21.8", j.Book(), len(j.Book())))
+		alike(t, "P21.8", d.opens(t, "P21.8", book, n), d.opens(t, "P21.8", book[:n], n))
+	}
+	if good < 20000 {
+		t.Errorf("only %d bytes were good", good)
+	}
+}
