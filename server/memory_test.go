@@ -152,6 +152,14 @@ func TestEndlessLine(t *testing.T) {
 			t.Errorf("a line of 8 MiB in pieces of %d took %d bytes of memory", size, n)
 		}
 	}
+	// While it waits for its end a Tick needs little beside what is kept of it.
+	if n := spent(func() {
+		for range 100 {
+			s.Tick()
+		}
+	}); n > 1<<22 {
+		t.Errorf("100 ticks took %d bytes of memory", n)
+	}
 	feeds(t, s, 0, "\ncancel 1\n")
 	tells(t, s, `error 0 220`, `error 1 204`)
 }
