@@ -188,7 +188,7 @@ func TestShapes(t *testing.T) {
 func TestFreeBlocks(t *testing.T) {
 	s := testaid.Source(2613)
 	for _, c := range small()[2:] {
-		l := tellerOf(t, tight(&s, c))
+		l := tellerOf(t, s.Tight(c))
 		for range 40 {
 			prompt, n := drawn(&s, c, 1+s.Below(c.Len-1)), 1+s.Below(api.MaxLive)
 			most := 1 + s.Below(c.Len-len(prompt))

@@ -15,7 +15,7 @@ func TestFirstIsGreedy(t *testing.T) {
 	for range 60 {
 		w, v := s.Small()
 		if s.Below(2) == 0 {
-			w = tight(&s, w.Config)
+			w = s.Tight(w.Config)
 		}
 		l := tellerOf(t, w)
 		prompt := drawn(&s, w.Config, 1+s.Below(w.Config.Len-1))
@@ -41,7 +41,7 @@ func TestFirstIsGreedy(t *testing.T) {
 func TestOneLess(t *testing.T) {
 	s := testaid.Source(2641)
 	for _, c := range small() {
-		for _, w := range []api.Weights{s.Lively(c), tight(&s, c)} {
+		for _, w := range []api.Weights{s.Lively(c), s.Tight(c)} {
 			l := tellerOf(t, w)
 			prompt := drawn(&s, c, 1+s.Below(c.Len-1))
 			most := 1 + s.Below(c.Len-len(prompt))
@@ -59,7 +59,7 @@ func TestContinuations(t *testing.T) {
 	s := testaid.Source(2642)
 	for _, c := range small() {
 		for range 6 {
-			l := tellerOf(t, tight(&s, c))
+			l := tellerOf(t, s.Tight(c))
 			prompt, n := drawn(&s, c, 1+s.Below(c.Len-1)), 1+s.Below(api.MaxLive)
 			most := 1 + s.Below(c.Len-len(prompt))
 			got := l.found(poolOf(t, c, 256, 16), prompt, n, most)
@@ -89,7 +89,7 @@ func TestFewerThanAsked(t *testing.T) {
 	s := testaid.Source(2643)
 	for vocab := 2; vocab <= 20; vocab++ {
 		c := api.Config{Vocab: vocab, Width: 2, Heads: 1, KV: 1, Layers: 1, Hidden: 1, Len: 6}
-		l := tellerOf(t, tight(&s, c))
+		l := tellerOf(t, s.Tight(c))
 		for n := 1; n <= api.MaxLive; n++ {
 			prompt := drawn(&s, c, 1+s.Below(5))
 			got := l.found(l.enough(prompt, n, 1, 3), prompt, n, 1)

@@ -89,7 +89,7 @@ func TestNothingIsKept(t *testing.T) {
 func TestAnswersAreApart(t *testing.T) {
 	s := testaid.Source(2653)
 	for _, c := range small()[1:] {
-		l := tellerOf(t, tight(&s, c))
+		l := tellerOf(t, s.Tight(c))
 		p := poolOf(t, c, 256, 16)
 		for _, long := range []int{1, c.Len - 1} {
 			prompt := testaid.Roomy(drawn(&s, c, long), 77)
@@ -115,7 +115,7 @@ func TestAnswersAreApart(t *testing.T) {
 func TestOrderIsNotSeen(t *testing.T) {
 	s := testaid.Source(2654)
 	c := measures()[3]
-	l, other := tellerOf(t, s.Lively(c)), tellerOf(t, tight(&s, c))
+	l, other := tellerOf(t, s.Lively(c)), tellerOf(t, s.Tight(c))
 	p, q := poolOf(t, c, 256, 16), poolOf(t, c, 200, 1)
 	for range 20 {
 		prompt := drawn(&s, c, 1+s.Below(c.Len-1))

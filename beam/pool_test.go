@@ -71,7 +71,7 @@ func stays(t *testing.T, p *pool.Pool, do func()) {
 func TestPoolStays(t *testing.T) {
 	s := testaid.Source(2620)
 	for _, c := range small()[1:] {
-		l := tellerOf(t, tight(&s, c))
+		l := tellerOf(t, s.Tight(c))
 		for range 12 {
 			prompt, n := drawn(&s, c, 1+s.Below(c.Len-1)), 1+s.Below(8)
 			most := 1 + s.Below(c.Len-len(prompt))

@@ -91,7 +91,7 @@ func TestAlikeGapsOfUnlikeLengths(t *testing.T) {
 func TestAllContinuations(t *testing.T) {
 	s := testaid.Source(2601)
 	few := api.Config{Vocab: 3, Width: 4, Heads: 2, KV: 1, Layers: 2, Hidden: 2, Len: 6}
-	for _, w := range []api.Weights{testaid.Tiny(), s.Lively(few), tight(&s, few), tight(&s, measures()[1])} {
+	for _, w := range []api.Weights{testaid.Tiny(), s.Lively(few), s.Tight(few), s.Tight(measures()[1])} {
 		l := tellerOf(t, w)
 		for _, prompt := range testaid.Lists(3, 0, 1, w.Config.Vocab-1)[1:] {
 			for most := 1; most <= 3; most++ {
@@ -114,7 +114,7 @@ func TestDrawn(t *testing.T) {
 	s := testaid.Source(2602)
 	over, open, alike := 0, 0, 0
 	for _, c := range small() {
-		for _, w := range []api.Weights{s.Lively(c), s.Weights(c), tight(&s, c), tight(&s, c)} {
+		for _, w := range []api.Weights{s.Lively(c), s.Weights(c), s.Tight(c), s.Tight(c)} {
 			l := tellerOf(t, w)
 			for n := 1; n <= api.MaxLive; n++ {
 				prompt := drawn(&s, c, 1+s.Below(c.Len-1))
@@ -147,7 +147,7 @@ func TestDrawn(t *testing.T) {
 func TestSizes(t *testing.T) {
 	s := testaid.Source(2603)
 	for _, c := range small() {
-		l := tellerOf(t, tight(&s, c))
+		l := tellerOf(t, s.Tight(c))
 		for range 4 {
 			prompt := drawn(&s, c, 1+s.Below(c.Len-1))
 			most, n := c.Len-len(prompt), 1+s.Below(9)

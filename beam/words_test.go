@@ -234,15 +234,3 @@ func drawn(s *testaid.Source, c api.Config, n int) []int {
 	}
 	return text
 }
-
-// tight: lively weights whose logits lie close together, so that many gaps are alike.
-func tight(s *testaid.Source, c api.Config) api.Weights {
-	w := s.Lively(c)
-	for i := range w.Head.Data {
-		w.Head.Data[i] = int8(s.Below(3) - 1)
-	}
-	for i := range w.Final {
-		w.Final[i] = int8(1 + s.Below(2))
-	}
-	return w
-}

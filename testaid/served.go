@@ -101,6 +101,18 @@ func (s *Source) Lively(c api.Config) api.Weights {
 	return w
 }
 
+// Tight: lively weights whose logits lie close together, so that many gaps are alike.
+func (s *Source) Tight(c api.Config) api.Weights {
+	w := s.Lively(c)
+	for i := range w.Head.Data {
+		w.Head.Data[i] = int8(s.Below(3) - 1)
+	}
+	for i := range w.Final {
+		w.Final[i] = int8(1 + s.Below(2))
+	}
+	return w
+}
+
 // Small: lively weights of drawn measures, with a vocabulary for them.
 func (s *Source) Small() (api.Weights, api.Vocab) {
 	v := Vocab("ab", [2]int{1, 2}, [2]int{2, 2}, [2]int{3, 1})
